@@ -9,18 +9,8 @@ import (
 
 	"redline/api"
 	"redline/num"
+	"redline/samples"
 )
-
-// each hands over every text of at most length letters out of alphabet.
-func each(alphabet string, length int, do func(s string)) {
-	do("")
-	if length == 0 {
-		return
-	}
-	for i := range len(alphabet) {
-		each(alphabet, length-1, func(s string) { do(alphabet[i:i+1] + s) })
-	}
-}
 
 // allBytes is a text of all 256 bytes.
 func allBytes() string {
@@ -122,7 +112,7 @@ func TestParseKnowsJustTheTextsOfNumbers(t *testing.T) {
 	for n := range 100000 {
 		known[big.NewInt(int64(n)).String()] = n
 	}
-	each("0129-+a ", 5, func(s string) {
+	samples.Texts("0129-+a ", 5, func(s string) {
 		want, ok := known[s]
 		n, err := num.Parse(s)
 		if ok && (n != want || err != api.OK) || !ok && (n != 0 || err != api.ErrText) {
@@ -219,8 +209,8 @@ func TestUnquoteOfEachByteByDigits(t *testing.T) {
 func TestUnquoteKnowsJustWhatQuoteWrites(t *testing.T) {
 	const alphabet = "\"\\02a\x02 A"
 	written := map[string]string{}
-	each("\"\\02a\x02\x00\x0a\x20\x22\xa0\xa2\xaa A", 4, func(s string) { written[num.Quote(s)] = s })
-	each(alphabet, 6, func(s string) {
+	samples.Texts("\"\\02a\x02\x00\x0a\x20\x22\xa0\xa2\xaa A", 4, func(s string) { written[num.Quote(s)] = s })
+	samples.Texts(alphabet, 6, func(s string) {
 		text, behind, want := "", "", api.ErrText
 		for i := range len(s) + 1 {
 			if w, ok := written[s[:i]]; ok {
@@ -314,7 +304,7 @@ func TestWordsThatAreTooMany(t *testing.T) {
 
 // TestWordsAreThoseOfTheRule goes through short texts and takes them apart anew, letter by letter.
 func TestWordsAreThoseOfTheRule(t *testing.T) {
-	each("x\" \t\\2", 7, func(s string) {
+	samples.Texts("x\" \t\\2", 7, func(s string) {
 		want, ok := wordsByTheRule(s)
 		l, err := num.Words(s)
 		if ok && (err != api.OK || !slices.Equal(l, want)) || !ok && (err != api.ErrText || len(l) != 0) {

@@ -1,0 +1,43 @@
+package samples_test
+
+import (
+	"slices"
+	"testing"
+
+	"redline/samples"
+)
+
+func TestTextsAreAllTheShortOnes(t *testing.T) {
+	var l []string
+	samples.Texts("ab", 2, func(s string) { l = append(l, s) })
+	slices.Sort(l)
+	if want := []string{"", "a", "aa", "ab", "b", "ba", "bb"}; !slices.Equal(l, want) {
+		t.Errorf("texts %q, want %q", l, want)
+	}
+}
+
+func TestTextsGoByBytes(t *testing.T) {
+	var l []string
+	samples.Texts("\xff\x00", 1, func(s string) { l = append(l, s) })
+	if want := []string{"", "\xff", "\x00"}; !slices.Equal(l, want) {
+		t.Errorf("texts %q, want %q", l, want)
+	}
+}
+
+func TestListsAreAllTheShortOnes(t *testing.T) {
+	n := 0
+	samples.Lists([]int{1, 2, 3}, 3, func(l []int) {
+		n++
+		if len(l) > 3 {
+			t.Errorf("list %v", l)
+		}
+	})
+	if n != 1+3+9+27 {
+		t.Errorf("%d lists", n)
+	}
+	samples.Lists([]int{1}, -1, func(l []int) {
+		if len(l) != 0 {
+			t.Errorf("list %v of no members", l)
+		}
+	})
+}
