@@ -19,15 +19,6 @@ var (
 	atEnd = regexp.MustCompile("[ \t\v\f\r]+$")
 )
 
-// options is every choice of what is ignored.
-func options() []api.Ignore {
-	var l []api.Ignore
-	for n := range 64 {
-		l = append(l, api.Ignore{Space: n&1 != 0, White: n&2 != 0, Blank: n&4 != 0, Case: n&8 != 0, Tabs: n&16 != 0, Trail: n&32 != 0})
-	}
-	return l
-}
-
 // expandByWords replaces the first tab until there is none: all ahead of it takes one column a byte.
 func expandByWords(s string) string {
 	for {
@@ -67,14 +58,6 @@ func canonByWords(line string, o api.Ignore) string {
 		text += "\n"
 	}
 	return text
-}
-
-// everyLine hands over every short line over alphabet, without and with its line feed.
-func everyLine(alphabet string, length int, do func(line string)) {
-	samples.Texts(alphabet, length, func(s string) {
-		do(s)
-		do(s + "\n")
-	})
 }
 
 // Promise 3.1.
@@ -265,8 +248,8 @@ func TestCanonOfEveryByte(t *testing.T) {
 }
 
 func TestCanonOfAllShortLines(t *testing.T) {
-	for _, o := range options() {
-		everyLine("aA\t \r", 4, func(line string) {
+	for _, o := range samples.Ignores() {
+		samples.Lines("aA\t \r", 4, func(line string) {
 			if s, want := canon.Canon(line, o), canonByWords(line, o); s != want {
 				t.Errorf("%+v: %q: %q, want %q", o, line, s, want)
 			}
@@ -381,13 +364,13 @@ func TestBlankOfEdges(t *testing.T) {
 }
 
 func TestEqualAndBlankOfAllShortLines(t *testing.T) {
-	for _, o := range options() {
-		everyLine("aA\t ", 2, func(a string) {
+	for _, o := range samples.Ignores() {
+		samples.Lines("aA\t ", 2, func(a string) {
 			form := canonByWords(a, o)
 			if b := canon.Blank(a, o); b != (form == "" || form == "\n") {
 				t.Errorf("%+v: blank %q: %v", o, a, b)
 			}
-			everyLine("aA\t ", 2, func(b string) {
+			samples.Lines("aA\t ", 2, func(b string) {
 				if e := canon.Equal(a, b, o); e != (form == canonByWords(b, o)) {
 					t.Errorf("%+v: %q and %q: %v", o, a, b, e)
 				}
@@ -398,10 +381,10 @@ func TestEqualAndBlankOfAllShortLines(t *testing.T) {
 
 // That lines are blank is asked for elsewhere: it changes no answer here.
 func TestIgnoringBlankSaysNothing(t *testing.T) {
-	for _, o := range options() {
+	for _, o := range samples.Ignores() {
 		with, without := o, o
 		with.Blank, without.Blank = true, false
-		everyLine("A\t ", 3, func(line string) {
+		samples.Lines("A\t ", 3, func(line string) {
 			if canon.Canon(line, with) != canon.Canon(line, without) {
 				t.Errorf("%+v: %q has another form", with, line)
 			}
@@ -418,8 +401,8 @@ func TestIgnoringBlankSaysNothing(t *testing.T) {
 // Promise 3.4.
 
 func TestCanonOfAFormIsTheForm(t *testing.T) {
-	for _, o := range options() {
-		everyLine("aA\t \r\xff", 4, func(line string) {
+	for _, o := range samples.Ignores() {
+		samples.Lines("aA\t \r\xff", 4, func(line string) {
 			form := canon.Canon(line, o)
 			if s := canon.Canon(form, o); s != form {
 				t.Errorf("%+v: %q: %q, then %q", o, line, form, s)
@@ -436,8 +419,8 @@ func TestCanonOfAFormIsTheForm(t *testing.T) {
 
 func TestEqualIsAnEquivalence(t *testing.T) {
 	var l []string
-	everyLine("aA ", 2, func(line string) { l = append(l, line) })
-	for _, o := range options() {
+	samples.Lines("aA ", 2, func(line string) { l = append(l, line) })
+	for _, o := range samples.Ignores() {
 		for _, a := range l {
 			if !canon.Equal(a, a, o) {
 				t.Errorf("%+v: %q is not the same as itself", o, a)
@@ -465,8 +448,8 @@ func isMore(a, b api.Ignore) bool {
 
 func TestIgnoringMoreKeepsTheSame(t *testing.T) {
 	var l []string
-	everyLine("aA\t ", 3, func(line string) { l = append(l, line, "1234567"+line) })
-	choices := options()
+	samples.Lines("aA\t ", 3, func(line string) { l = append(l, line, "1234567"+line) })
+	choices := samples.Ignores()
 	forms := make([][]string, len(choices))
 	for i, o := range choices {
 		for _, line := range l {
@@ -494,7 +477,7 @@ func FuzzAnyLine(f *testing.F) {
 		f.Add(line, i)
 	}
 	f.Fuzz(func(t *testing.T, line string, n int) {
-		o := options()[uint(n)%64]
+		o := samples.Ignores()[uint(n)%64]
 		form := canon.Canon(line, o)
 		if want := canonByWords(line, o); form != want {
 			t.Errorf("%+v: %q: %q, want %q", o, line, form, want)

@@ -1,9 +1,19 @@
-// Package samples makes what the tests of all layers hold the calls against: every short text, every short list. The layers themselves do not call it.
+// Package samples makes what the tests of all layers hold the calls against: every short text, line and list, every choice of what is ignored. The layers themselves do not call it.
 package samples
+
+import "redline/api"
 
 // Texts hands over every text of at most length bytes out of those of alphabet, each once.
 func Texts(alphabet string, length int, do func(s string)) {
 	Lists([]byte(alphabet), length, func(l []byte) { do(string(l)) })
+}
+
+// Lines hands over what Texts does, each text without and with a line feed at its end.
+func Lines(alphabet string, length int, do func(line string)) {
+	Texts(alphabet, length, func(s string) {
+		do(s)
+		do(s + "\n")
+	})
 }
 
 // Lists hands over every list of at most length members out of members, each once, and each as new memory.
@@ -15,4 +25,13 @@ func Lists[T any](members []T, length int, do func(l []T)) {
 	for _, m := range members {
 		Lists(members, length-1, func(l []T) { do(append([]T{m}, l...)) })
 	}
+}
+
+// Ignores is every choice of what is ignored, each once; the first one ignores nothing, the last one all.
+func Ignores() []api.Ignore {
+	var l []api.Ignore
+	for n := range 64 {
+		l = append(l, api.Ignore{Space: n&1 != 0, White: n&2 != 0, Blank: n&4 != 0, Case: n&8 != 0, Tabs: n&16 != 0, Trail: n&32 != 0})
+	}
+	return l
 }

@@ -4,6 +4,7 @@ import (
 	"slices"
 	"testing"
 
+	"redline/api"
 	"redline/samples"
 )
 
@@ -24,6 +25,15 @@ func TestTextsGoByBytes(t *testing.T) {
 	}
 }
 
+func TestLinesAreTextsWithoutAndWithAFeed(t *testing.T) {
+	var l []string
+	samples.Lines("ab", 1, func(line string) { l = append(l, line) })
+	slices.Sort(l)
+	if want := []string{"", "\n", "a", "a\n", "b", "b\n"}; !slices.Equal(l, want) {
+		t.Errorf("lines %q, want %q", l, want)
+	}
+}
+
 func TestListsAreAllTheShortOnes(t *testing.T) {
 	n := 0
 	samples.Lists([]int{1, 2, 3}, 3, func(l []int) {
@@ -40,4 +50,19 @@ func TestListsAreAllTheShortOnes(t *testing.T) {
 			t.Errorf("list %v of no members", l)
 		}
 	})
+}
+
+func TestIgnoresAreAllChoices(t *testing.T) {
+	l := samples.Ignores()
+	times := map[api.Ignore]int{}
+	for _, o := range l {
+		times[o]++
+	}
+	if len(l) != 64 || len(times) != 64 {
+		t.Fatalf("%d choices, %d of them different", len(l), len(times))
+	}
+	all := api.Ignore{Space: true, White: true, Blank: true, Case: true, Tabs: true, Trail: true}
+	if l[0] != (api.Ignore{}) || l[63] != all {
+		t.Errorf("the first is %+v, the last %+v", l[0], l[63])
+	}
 }
