@@ -35,3 +35,15 @@ func Ignores() []api.Ignore {
 	}
 	return l
 }
+
+// Rows is changes as rows of numbers: A, AN, B and BN of each.
+type Rows [][4]int
+
+// Changes is the rows as changes.
+func (r Rows) Changes() []api.Change {
+	l := make([]api.Change, len(r))
+	for i, row := range r {
+		l[i] = api.Change{A: row[0], AN: row[1], B: row[2], BN: row[3]}
+	}
+	return l
+}

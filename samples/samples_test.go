@@ -66,3 +66,13 @@ func TestIgnoresAreAllChoices(t *testing.T) {
 		t.Errorf("the first is %+v, the last %+v", l[0], l[63])
 	}
 }
+
+func TestRowsAreChanges(t *testing.T) {
+	if l := (samples.Rows{}).Changes(); len(l) != 0 {
+		t.Errorf("no rows: %v", l)
+	}
+	l := samples.Rows{{1, 2, 3, 4}, {-5, 0, 7, 0}}.Changes()
+	if want := []api.Change{{A: 1, AN: 2, B: 3, BN: 4}, {A: -5, B: 7}}; !slices.Equal(l, want) {
+		t.Errorf("rows: %v, want %v", l, want)
+	}
+}
