@@ -1,4 +1,4 @@
-// Package samples makes what the tests of all layers hold the calls against: every short text, line and list, every choice of what is ignored. The layers themselves do not call it.
+// Package samples makes what the tests of all layers hold the calls against: every short text, line and list, every choice of what is ignored, edit scripts. The layers themselves do not call it.
 package samples
 
 import "redline/api"
@@ -44,6 +44,28 @@ func (r Rows) Changes() []api.Change {
 	l := make([]api.Change, len(r))
 	for i, row := range r {
 		l[i] = api.Change{A: row[0], AN: row[1], B: row[2], BN: row[3]}
+	}
+	return l
+}
+
+// Script is an edit script out of signs, one a line in order: = is kept, - taken out, + put in.
+func Script(signs string) []api.Change {
+	var l []api.Change
+	a, b, open := 0, 0, false
+	for _, sign := range []byte(signs) {
+		if sign == '=' {
+			a, b, open = a+1, b+1, false
+			continue
+		}
+		if !open {
+			l, open = append(l, api.Change{A: a, B: b}), true
+		}
+		c := &l[len(l)-1]
+		if sign == '-' {
+			a, c.AN = a+1, c.AN+1
+		} else {
+			b, c.BN = b+1, c.BN+1
+		}
 	}
 	return l
 }

@@ -76,3 +76,23 @@ func TestRowsAreChanges(t *testing.T) {
 		t.Errorf("rows: %v, want %v", l, want)
 	}
 }
+
+func TestScriptsGoBySigns(t *testing.T) {
+	for _, c := range []struct {
+		signs string
+		want  samples.Rows
+	}{
+		{"", nil},
+		{"==", nil},
+		{"-", samples.Rows{{0, 1, 0, 0}}},
+		{"+", samples.Rows{{0, 0, 0, 1}}},
+		{"-+--", samples.Rows{{0, 3, 0, 1}}},
+		{"=-=", samples.Rows{{1, 1, 1, 0}}},
+		{"-=-=+", samples.Rows{{0, 1, 0, 0}, {2, 1, 1, 0}, {4, 0, 2, 1}}},
+		{"++=-+==+-", samples.Rows{{0, 0, 0, 2}, {1, 1, 3, 1}, {4, 1, 6, 1}}},
+	} {
+		if l := samples.Script(c.signs); !slices.Equal(l, c.want.Changes()) {
+			t.Errorf("script of %q: %v, want %v", c.signs, l, c.want)
+		}
+	}
+}
