@@ -762,15 +762,10 @@ func TestComposeThatNoScriptCanTell(t *testing.T) {
 
 // Rule R4.
 
-// spare is a list with something behind its end.
-func spare[T any](l []T, behind T) []T {
-	return append(slices.Clone(l), behind)[:len(l)]
-}
-
 // checkSpare tells whether a list, and what stands behind its end, is what it was.
 func checkSpare[T comparable](t *testing.T, l, want []T, behind T) {
 	t.Helper()
-	if !slices.Equal(l, want) || l[:len(l)+1][len(l)] != behind {
+	if !samples.Left(l, want, behind) {
 		t.Errorf("%v has become %v, with %v behind it", want, l, l[:len(l)+1][len(l)])
 	}
 }
@@ -779,8 +774,8 @@ func TestListsAreLeftAlone(t *testing.T) {
 	behind := api.Change{A: 9, AN: 9, B: 9, BN: 9}
 	keep, long := []int{0, -1, 2}, []string{"a", "b", "c"}
 	x, y := rows{{1, 1, 1, 1}, {3, 0, 3, 1}}.Changes(), rows{{0, 1, 0, 0}}.Changes()
-	k, p, q := spare(keep, 9), spare(x, behind), spare(y, behind)
-	a, b := spare(long, "behind"), spare([]string{"x", "y", "z", "u"}, "behind")
+	k, p, q := samples.Spare(keep, 9), samples.Spare(x, behind), samples.Spare(y, behind)
+	a, b := samples.Spare(long, "behind"), samples.Spare([]string{"x", "y", "z", "u"}, "behind")
 	edits.Check(p, 3, 4)
 	edits.Make(k, 4)
 	edits.Keep(p, 3, 4)
@@ -795,22 +790,11 @@ func TestListsAreLeftAlone(t *testing.T) {
 	checkSpare(t, b, []string{"x", "y", "z", "u"}, "behind")
 }
 
-// checkApart fills the lists, and the room behind them, each with something of its own: none may show in another.
+// checkApart holds two answers and what was handed in against each other: they are apart.
 func checkApart[T comparable](t *testing.T, call func() []T, handedIn []T, fill func(i int) T) {
 	t.Helper()
-	answers := [][]T{call(), call(), handedIn}
-	for i, l := range answers {
-		for j := range l {
-			l[j] = fill(i)
-		}
-	}
-	for _, l := range answers {
-		_ = append(l, fill(8), fill(9)) // into spare room, if there is any: that is no other list's
-	}
-	for i, l := range answers {
-		if slices.ContainsFunc(l, func(x T) bool { return x != fill(i) }) {
-			t.Errorf("list %d has become %v by a change of another one", i, l)
-		}
+	if l, again := call(), call(); !samples.Apart(fill, l, again, handedIn) {
+		t.Errorf("two answers, and what was handed in, have become %v, %v and %v by changes of one another", l, again, handedIn)
 	}
 }
 

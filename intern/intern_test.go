@@ -402,19 +402,8 @@ func TestClassesAnswersNewMemory(t *testing.T) {
 	l := []string{"a\n", "b\n"}
 	x, y, _ := intern.Classes(l, l, none)
 	v, w, _ := intern.Classes(l, l, none)
-	answers := [][]int{x, y, v, w}
-	for i, list := range answers {
-		for j := range list {
-			list[j] = i
-		}
-	}
-	for _, list := range answers {
-		_ = append(list, 9, 9) // into spare room, if there is any: that is no other list's
-	}
-	for i, list := range answers {
-		if !slices.Equal(list, []int{i, i}) {
-			t.Errorf("list %d has become %v by a change of another one", i, list)
-		}
+	if !samples.Apart(func(i int) int { return i }, x, y, v, w) {
+		t.Errorf("the answers have become %v, %v, %v and %v by changes of one another", x, y, v, w)
 	}
 	checkClasses(t, l, l, none, []int{0, 1}, []int{0, 1}, 2)
 }

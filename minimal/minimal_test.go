@@ -86,33 +86,6 @@ func check(t *testing.T, x, y []int, signs string) {
 	checkDiff(t, x, y, samples.Script(signs), api.OK)
 }
 
-// texts hands over every pair of texts of at most length members out of so many classes.
-func texts(classes, length int, do func(x, y []int)) {
-	var l [][]int
-	samples.Lists(count(0, classes), length, func(x []int) { l = append(l, x) })
-	for _, x := range l {
-		for _, y := range l {
-			do(slices.Clone(x), slices.Clone(y))
-		}
-	}
-}
-
-// count is so many numbers, one greater than the other, from one on.
-func count(from, length int) []int {
-	l := make([]int, length)
-	for i := range l {
-		l[i] = from + i
-	}
-	return l
-}
-
-// turned is a text turned about.
-func turned(x []int) []int {
-	l := slices.Clone(x)
-	slices.Reverse(l)
-	return l
-}
-
 // chosen is the members of a text at the places whose bits are set.
 func chosen(x []int, places uint) []int {
 	var l []int
@@ -146,43 +119,22 @@ func commonRow(x, y []int) bool {
 }
 
 // textCase is two texts, and what is done with each line.
-type textCase struct {
-	name  string
-	x, y  []int
-	signs string
-}
+type textCase samples.Case
 
-// textCases are the edges that the chapter names.
+// textCases are the edges that the chapter names, behind those of all engines.
 func textCases() []textCase {
-	return []textCase{
-		{"no members", nil, nil, ""},
-		{"no members, empty lists", []int{}, []int{}, ""},
-		{"none in x", nil, []int{1, 2}, "++"},
-		{"none in y", []int{1, 2}, nil, "--"},
-		{"the same, one member", []int{1}, []int{1}, "="},
-		{"the same", []int{1, 2, 3, 1}, []int{1, 2, 3, 1}, "===="},
-		{"nothing in common, one each", []int{1}, []int{2}, "-+"},
-		{"nothing in common", []int{1, 2, 3}, []int{4, 5}, "---++"},
-		{"nothing in common, the same ones several times", []int{1, 1, 1}, []int{2, 2}, "---++"},
-		{"x is y's front", []int{1, 2}, []int{1, 2, 3, 4}, "==++"},
+	var l []textCase
+	for _, c := range samples.Plain() {
+		l = append(l, textCase(c))
+	}
+	return append(l, []textCase{
 		{"x is y's middle", []int{2, 3}, []int{1, 2, 3, 4}, "+==+"},
-		{"x is y's end", []int{3, 4}, []int{1, 2, 3, 4}, "++=="},
 		{"x is in y, here and there", []int{1, 3}, []int{0, 1, 2, 3, 4}, "+=+=+"},
-		{"y is x's front", []int{1, 2, 3, 4}, []int{1, 2}, "==--"},
 		{"y is x's middle", []int{1, 2, 3, 4}, []int{2, 3}, "-==-"},
-		{"y is x's end", []int{1, 2, 3, 4}, []int{3, 4}, "--=="},
 		{"y is in x, here and there", []int{0, 1, 2, 3, 4}, []int{1, 3}, "-=-=-"},
-		{"equal at the front alone", []int{1, 2, 3}, []int{1, 2, 4, 5}, "==-++"},
-		{"equal at the end alone", []int{3, 1, 2}, []int{4, 5, 1, 2}, "-++=="},
-		{"equal at the front and at the end", []int{1, 2, 3}, []int{1, 4, 3}, "=-+="},
 		{"equal in the middle", []int{1, 2, 3}, []int{4, 2, 5}, "-+=-+"},
-		{"several times in y", []int{1}, []int{1, 1}, "=+"},
-		{"several times in x", []int{1, 1}, []int{1}, "=-"},
 		{"several times in both", []int{1, 1, 1}, []int{1, 1}, "==-"},
 		{"several times, others ahead", []int{2, 1, 1}, []int{3, 1, 1, 1}, "-+==+"},
-		{"several times, others between", []int{1, 2, 1}, []int{1, 1}, "=-="},
-		{"the end is not held fast, in x", []int{1, 2, 1}, []int{1}, "=--"},
-		{"the end is not held fast, in y", []int{1}, []int{1, 2, 1}, "=++"},
 		{"both the same: x's goes", []int{1, 2}, []int{2, 1}, "-=+"},
 		{"both the same, of pairs", []int{1, 2, 3, 4}, []int{3, 4, 1, 2}, "--==++"},
 		{"both the same, behind an equal front", []int{7, 1, 2}, []int{7, 2, 1}, "=-=+"},
@@ -198,27 +150,25 @@ func textCases() []textCase {
 		{"neither is left in the end", []int{9, 1}, []int{8, 1}, "-+="},
 		{"classes below 0", []int{-1, -2, -3}, []int{-2, -1, -3}, "-=+="},
 		{"the class 0", []int{0, 1}, []int{1, 0}, "-=+"},
-		{"only the class 0", []int{0}, []int{0, 0, 0}, "=++"},
-		{"a class and its opposite", []int{-1, 1}, []int{1}, "-="},
 		{"-1 among others", []int{-1, 5}, []int{5, -1}, "-=+"},
 		{"classes as great as an int holds", []int{math.MaxInt, math.MinInt}, []int{math.MinInt, math.MaxInt}, "-=+"},
 		{"the greatest and the least", []int{math.MaxInt}, []int{math.MinInt}, "-+"},
 		{"the greatest and one less", []int{math.MaxInt, math.MaxInt - 1}, []int{math.MaxInt - 1}, "-="},
 		{"classes that are the same in their last bits", []int{1, 1 + 1<<32}, []int{1 + 1<<32, 1}, "-=+"},
 		{"the chapter's example", []int{1, 2, 3, 1}, []int{2, 1, 3}, "-=-=+"},
-	}
+	}...)
 }
 
 // Promise 6.1.
 
 func TestLengthAtTheEdges(t *testing.T) {
 	for _, c := range textCases() {
-		t.Run(c.name, func(t *testing.T) { checkLength(t, c.x, c.y, strings.Count(c.signs, "="), api.OK) })
+		t.Run(c.Name, func(t *testing.T) { checkLength(t, c.X, c.Y, strings.Count(c.Signs, "="), api.OK) })
 	}
 }
 
 func TestLengthIsThatOfTheLongestCommonRow(t *testing.T) {
-	texts(3, 4, func(x, y []int) {
+	samples.Both(3, 4, func(x, y []int) {
 		longest := 0
 		choices(x, y, func(p, q uint) {
 			if slices.Equal(chosen(x, p), chosen(y, q)) {
@@ -230,41 +180,22 @@ func TestLengthIsThatOfTheLongestCommonRow(t *testing.T) {
 }
 
 func TestLengthOfAllShortTexts(t *testing.T) {
-	texts(2, 7, func(x, y []int) { checkLength(t, x, y, lengthsByWords(x, y)[0][0], api.OK) })
+	samples.Both(2, 7, func(x, y []int) { checkLength(t, x, y, lengthsByWords(x, y)[0][0], api.OK) })
 }
 
 func TestTooManyMembersAreRefused(t *testing.T) {
-	const most = api.MaxLines
-	for _, c := range []struct {
-		name string
-		n, m int
-		want api.Errno
-	}{
-		{"as many as may be in x", most, 0, api.OK},
-		{"as many as may be in y", 0, most, api.OK},
-		{"as many as may be in both", most, most, api.OK},
-		{"one more in x, none in y", most + 1, 0, api.ErrLong},
-		{"one more in y, none in x", 0, most + 1, api.ErrLong},
-		{"one more in x", most + 1, most, api.ErrLong},
-		{"one more in y", most, most + 1, api.ErrLong},
-		{"one more in both", most + 1, most + 1, api.ErrLong},
-		{"far more in x", 1 << 22, 1, api.ErrLong},
-		{"far more in y", 1, 1 << 22, api.ErrLong},
-		{"far more in both", 1 << 22, 1 << 22, api.ErrLong},
-	} {
-		t.Run(c.name, func(t *testing.T) {
-			for _, from := range []int{0, 1, c.n} { // all of y in x, all but the first, none
-				x, y := count(0, c.n), count(from, c.m)
-				n, err := minimal.Length(x, y)
-				l, code := minimal.Diff(x, y)
-				if err != c.want || code != c.want {
-					t.Errorf("%d and %d members: length %d, diff %d, want %d", c.n, c.m, err, code, c.want)
-				}
-				if c.want != api.OK && (n != 0 || len(l) != 0) {
-					t.Errorf("%d and %d members: length %d, diff %v beside an error", c.n, c.m, n, l)
-				}
+	for _, c := range samples.Sizes() {
+		for _, from := range []int{0, 1, c.X} { // all of y in x, all but the first, none
+			x, y := samples.Count(0, c.X), samples.Count(from, c.Y)
+			n, err := minimal.Length(x, y)
+			l, code := minimal.Diff(x, y)
+			if err != c.Err || code != c.Err {
+				t.Errorf("%d and %d members: length %d, diff %d, want %d", c.X, c.Y, err, code, c.Err)
 			}
-		})
+			if c.Err != api.OK && (n != 0 || len(l) != 0) {
+				t.Errorf("%d and %d members: length %d, diff %v beside an error", c.X, c.Y, n, l)
+			}
+		}
 	}
 }
 
@@ -279,18 +210,18 @@ type longCase struct {
 // longCases are the greatest texts, each with an answer that a text of a few lines has alike.
 func longCases() []longCase {
 	const most = api.MaxLines
-	all, ones := count(0, most), slices.Repeat([]int{1}, most)
+	all, ones := samples.Count(0, most), slices.Repeat([]int{1}, most)
 	return []longCase{
 		{"the same", all, all, nil, most},
 		{"the same member", ones, ones, nil, most},
-		{"nothing in common", all, count(most, most), samples.Rows{{0, most, 0, most}}.Changes(), 0},
+		{"nothing in common", all, samples.Count(most, most), samples.Rows{{0, most, 0, most}}.Changes(), 0},
 		{"none in x", nil, all, samples.Rows{{0, 0, 0, most}}.Changes(), 0},
 		{"none in y", all, nil, samples.Rows{{0, most, 0, 0}}.Changes(), 0},
 		{"others at the front", slices.Concat([]int{-1}, all[1:]), slices.Concat([]int{-2}, all[1:]), samples.Rows{{0, 1, 0, 1}}.Changes(), most - 1},
 		{"others at the end", slices.Concat(all[1:], []int{-1}), slices.Concat(all[1:], []int{-2}), samples.Rows{{most - 1, 1, most - 1, 1}}.Changes(), most - 1},
 		{"the first has gone to the end", all, slices.Concat(all[1:], all[:1]), samples.Rows{{0, 1, 0, 0}, {most, 0, most - 1, 1}}.Changes(), most - 1},
 		{"the last has come to the front", all, slices.Concat(all[most-1:], all[:most-1]), samples.Rows{{0, 0, 0, 1}, {most - 1, 1, most, 0}}.Changes(), most - 1},
-		{"turned about", all, turned(all), samples.Rows{{0, most - 1, 0, 0}, {most, 0, 1, most - 1}}.Changes(), 1},
+		{"turned about", all, samples.Turned(all), samples.Rows{{0, most - 1, 0, 0}, {most, 0, 1, most - 1}}.Changes(), 1},
 		{"halves exchanged", all, slices.Concat(all[most/2:], all[:most/2]), samples.Rows{{0, most / 2, 0, 0}, {most, 0, most / 2, most / 2}}.Changes(), most / 2},
 		{"one at the end of many", []int{most - 1}, all, samples.Rows{{0, 0, 0, most - 1}}.Changes(), 1},
 		{"one of many", ones, []int{1}, samples.Rows{{1, most - 1, 1, 0}}.Changes(), 1},
@@ -323,7 +254,7 @@ func TestTheGreatestTextsByTheChaptersWords(t *testing.T) {
 
 func TestDiffAtTheEdges(t *testing.T) {
 	for _, c := range textCases() {
-		t.Run(c.name, func(t *testing.T) { checkDiff(t, c.x, c.y, samples.Script(c.signs), api.OK) })
+		t.Run(c.Name, func(t *testing.T) { checkDiff(t, c.X, c.Y, samples.Script(c.Signs), api.OK) })
 	}
 }
 
@@ -333,34 +264,21 @@ func TestDiffOfTheChaptersExamples(t *testing.T) {
 }
 
 func TestDiffOfAllShortTexts(t *testing.T) {
-	texts(3, 5, func(x, y []int) { checkDiff(t, x, y, samples.Script(signsByWords(x, y)), api.OK) })
-	texts(2, 7, func(x, y []int) { checkDiff(t, x, y, samples.Script(signsByWords(x, y)), api.OK) })
+	samples.Both(3, 5, func(x, y []int) { checkDiff(t, x, y, samples.Script(signsByWords(x, y)), api.OK) })
+	samples.Both(2, 7, func(x, y []int) { checkDiff(t, x, y, samples.Script(signsByWords(x, y)), api.OK) })
 }
 
 // Which classes are the same counts alone, not which numbers they have.
 func TestClassesMayBeAnyNumbers(t *testing.T) {
-	for _, numbers := range [][]int{
-		{-1, -2, -3},
-		{math.MinInt, 0, math.MaxInt},
-		{math.MaxInt, -1, math.MaxInt - 1},
-		{math.MinInt, math.MinInt + 1, 1},
-		{0, 1 << 32, 1 << 16},
-	} {
-		renamed := func(x []int) []int {
-			var l []int
-			for _, class := range x {
-				l = append(l, numbers[class])
-			}
-			return l
-		}
-		texts(3, 4, func(x, y []int) { check(t, renamed(x), renamed(y), signsByWords(x, y)) })
+	for _, names := range samples.Odd() {
+		samples.Both(3, 4, func(x, y []int) { check(t, samples.Renamed(x, names), samples.Renamed(y, names), signsByWords(x, y)) })
 	}
 }
 
 // Promise 6.3.
 
 func TestDiffKeepsPairsOfTheSameClass(t *testing.T) {
-	texts(3, 5, func(x, y []int) {
+	samples.Both(3, 5, func(x, y []int) {
 		l, err := minimal.Diff(x, y)
 		keep, code := edits.Keep(l, len(x), len(y))
 		if err != api.OK || code != api.OK {
@@ -391,7 +309,7 @@ func scriptOf(n, m int, p, q uint) []api.Change {
 }
 
 func TestNoScriptKeepsMore(t *testing.T) {
-	texts(2, 5, func(x, y []int) {
+	samples.Both(2, 5, func(x, y []int) {
 		least, _ := minimal.Diff(x, y)
 		choices(x, y, func(p, q uint) {
 			if !slices.Equal(chosen(x, p), chosen(y, q)) {
@@ -408,21 +326,21 @@ func TestLengthIsTheSameTheOtherWayRoundAndTurnedAbout(t *testing.T) {
 	both := func(x, y []int) {
 		n, err := minimal.Length(x, y)
 		checkLength(t, y, x, n, err)
-		checkLength(t, turned(x), turned(y), n, err)
-		checkLength(t, turned(y), turned(x), n, err)
+		checkLength(t, samples.Turned(x), samples.Turned(y), n, err)
+		checkLength(t, samples.Turned(y), samples.Turned(x), n, err)
 	}
-	texts(3, 5, both)
+	samples.Both(3, 5, both)
 	for _, c := range textCases() {
-		both(c.x, c.y)
+		both(c.X, c.Y)
 	}
 	for _, c := range longCases() {
 		both(c.x, c.y)
 	}
-	both(count(0, api.MaxLines+1), nil)
+	both(samples.Count(0, api.MaxLines+1), nil)
 }
 
 func TestLengthIsAtMostTheShorterOnes(t *testing.T) {
-	texts(3, 5, func(x, y []int) {
+	samples.Both(3, 5, func(x, y []int) {
 		if len(x) > len(y) {
 			x, y = y, x
 		}
@@ -445,7 +363,7 @@ func TestDiffMakesTheOtherText(t *testing.T) {
 		}
 		return l
 	}
-	texts(3, 5, func(x, y []int) {
+	samples.Both(3, 5, func(x, y []int) {
 		l, _ := minimal.Diff(x, y)
 		text, err := edits.Apply(l, named(x), named(y))
 		if err != api.OK || !slices.Equal(text, named(y)) {
@@ -456,20 +374,13 @@ func TestDiffMakesTheOtherText(t *testing.T) {
 
 // Rule R4.
 
-// spare is a list with something behind its end.
-func spare(l []int) []int {
-	return append(slices.Clone(l), 99)[:len(l)]
-}
-
 func TestTextsAreLeftAlone(t *testing.T) {
 	for _, c := range textCases() {
-		x, y := spare(c.x), spare(c.y)
-		check(t, x, y, c.signs)
-		check(t, x, y, c.signs)
-		for _, l := range [][2][]int{{x, c.x}, {y, c.y}} {
-			if !slices.Equal(l[0], l[1]) || l[0][:len(l[0])+1][len(l[0])] != 99 {
-				t.Errorf("%v has become %v", l[1], l[0][:len(l[0])+1])
-			}
+		x, y := samples.Spare(c.X, 99), samples.Spare(c.Y, 99)
+		check(t, x, y, c.Signs)
+		check(t, x, y, c.Signs)
+		if !samples.Left(x, c.X, 99) || !samples.Left(y, c.Y, 99) {
+			t.Errorf("%v and %v have become %v and %v", c.X, c.Y, x[:len(x)+1], y[:len(y)+1])
 		}
 	}
 }
@@ -503,7 +414,7 @@ func FuzzAnyTexts(f *testing.F) {
 	f.Add("abcabba", "cbabac")
 	f.Add("\xff\x00\x80", "\x80\xff")
 	f.Fuzz(func(t *testing.T, s, u string) {
-		x, y := classesOf(s), classesOf(u)
+		x, y := samples.Classes(s), samples.Classes(u)
 		if len(x) > api.MaxLines || len(y) > api.MaxLines {
 			checkLength(t, x, y, 0, api.ErrLong)
 			checkDiff(t, x, y, nil, api.ErrLong)
@@ -511,13 +422,4 @@ func FuzzAnyTexts(f *testing.F) {
 		}
 		check(t, x, y, signsByWords(x, y))
 	})
-}
-
-// classesOf is a class a byte, some of them below 0.
-func classesOf(s string) []int {
-	var l []int
-	for _, c := range []byte(s) {
-		l = append(l, int(int8(c)))
-	}
-	return l
 }

@@ -1,0 +1,99 @@
+package samples_test
+
+import (
+	"slices"
+	"strings"
+	"testing"
+
+	"redline/api"
+	"redline/samples"
+)
+
+func TestBothAreAllPairsOfShortTexts(t *testing.T) {
+	n, same := 0, 0
+	samples.Both(3, 2, func(x, y []int) {
+		n++
+		if slices.Equal(x, y) {
+			same++
+		}
+		for _, class := range slices.Concat(x, y) {
+			if class < 0 || class > 2 {
+				t.Errorf("class %d", class)
+			}
+		}
+		for _, l := range [][]int{x, y} {
+			for i := range l {
+				l[i] = 99 // new memory: no text handed over later may show it
+			}
+		}
+	})
+	if n != 13*13 || same != 13 {
+		t.Errorf("%d pairs, %d of them two of the same", n, same)
+	}
+}
+
+func TestCountGoesUpByOne(t *testing.T) {
+	if l := samples.Count(-1, 3); !slices.Equal(l, []int{-1, 0, 1}) {
+		t.Errorf("count %v", l)
+	}
+	if l := samples.Count(5, 0); len(l) != 0 {
+		t.Errorf("count of none: %v", l)
+	}
+}
+
+func TestTurnedLeavesTheListAlone(t *testing.T) {
+	l := []int{1, 2, 3}
+	if back := samples.Turned(l); !slices.Equal(back, []int{3, 2, 1}) || !slices.Equal(l, []int{1, 2, 3}) {
+		t.Errorf("%v, turned about %v", l, back)
+	}
+}
+
+func TestClassesGoByBytes(t *testing.T) {
+	if l := samples.Classes("a\x00\x80\xff"); !slices.Equal(l, []int{97, 0, -128, -1}) {
+		t.Errorf("classes %v", l)
+	}
+}
+
+func TestOddNamesAreDifferent(t *testing.T) {
+	for _, names := range samples.Odd() {
+		slices.Sort(names)
+		if len(names) != 3 || len(slices.Compact(names)) != 3 {
+			t.Errorf("names %v", names)
+		}
+	}
+}
+
+func TestRenamedGoesByPlaces(t *testing.T) {
+	if l := samples.Renamed([]int{2, 0, 2, 1}, []int{7, 8, -9}); !slices.Equal(l, []int{-9, 7, -9, 8}) {
+		t.Errorf("renamed %v", l)
+	}
+}
+
+// The signs of a case must fit its texts, and keep the same classes: else it would ask for what no engine may answer.
+func TestPlainCasesFit(t *testing.T) {
+	for _, c := range samples.Plain() {
+		i, j := 0, 0
+		for _, sign := range c.Signs {
+			if sign == '=' && (i == len(c.X) || j == len(c.Y) || c.X[i] != c.Y[j]) {
+				t.Fatalf("%s: %q keeps another class", c.Name, c.Signs)
+			}
+			if sign != '+' {
+				i++
+			}
+			if sign != '-' {
+				j++
+			}
+		}
+		if i != len(c.X) || j != len(c.Y) || strings.Trim(c.Signs, "=-+") != "" {
+			t.Errorf("%s: %q is of %d and %d members", c.Name, c.Signs, i, j)
+		}
+	}
+}
+
+func TestSizesAreRefusedAboveTheLimit(t *testing.T) {
+	for _, c := range samples.Sizes() {
+		if long := c.X > api.MaxLines || c.Y > api.MaxLines; long != (c.Err == api.ErrLong) || !long && c.Err != api.OK {
+			t.Errorf("%d and %d members: %d", c.X, c.Y, c.Err)
+		}
+	}
+}
