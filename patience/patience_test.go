@@ -4,7 +4,6 @@ import (
 	"fmt"
 	"math"
 	"slices"
-	"strings"
 	"testing"
 
 	"redline/api"
@@ -67,79 +66,38 @@ func uniqueByWords(x, y []int) []patience.Pair {
 	return l
 }
 
-// moved is pairs of a piece as pairs of the whole, in which it begins at x and y.
-func moved(l []patience.Pair, x, y int) []patience.Pair {
-	var whole []patience.Pair
-	for _, p := range l {
-		whole = append(whole, patience.Pair{X: x + p.X, Y: y + p.Y})
-	}
-	return whole
-}
-
-// pairsOf is what a script keeps, as pairs.
-func pairsOf(t *testing.T, script []api.Change, n, m int) []patience.Pair {
-	t.Helper()
-	keep, err := edits.Keep(script, n, m)
-	if err != api.OK {
-		t.Fatalf("%v is no edit script from %d to %d lines: %d", script, n, m, err)
-	}
-	var l []patience.Pair
-	for i, j := range keep {
-		if j != -1 {
-			l = append(l, patience.Pair{X: i, Y: j})
-		}
-	}
-	return l
-}
-
-// keptByWords is what Diff keeps of two pieces, by the chapter's words: the front, what is found between, the end.
-func keptByWords(t *testing.T, x, y []int) []patience.Pair {
-	t.Helper()
-	var front, end []patience.Pair
-	n, m := 0, len(y)
-	for n < len(x) && n < m && x[n] == y[n] {
-		front = append(front, patience.Pair{X: n, Y: n})
-		n++
-	}
-	x, y = x[n:], y[n:]
-	for len(x) > 0 && len(y) > 0 && x[len(x)-1] == y[len(y)-1] {
-		x, y = x[:len(x)-1], y[:len(y)-1]
-		end = append(end, patience.Pair{X: n + len(x), Y: n + len(y)})
-	}
-	slices.Reverse(end)
-	return slices.Concat(front, moved(betweenByWords(t, x, y), n, n), end)
+// keptByWords is what Diff keeps of two pieces, by the chapter's words.
+func keptByWords(x, y []int) []int {
+	return samples.Framed(x, y, betweenByWords)
 }
 
 // betweenByWords is what Diff keeps of two pieces that have neither the first member nor the last one in common.
-func betweenByWords(t *testing.T, x, y []int) []patience.Pair {
-	t.Helper()
+func betweenByWords(x, y []int) []int {
 	if len(x) == 0 || len(y) == 0 {
-		return nil
+		return samples.None(len(x))
 	}
 	row := longestByLengths(uniqueByWords(x, y))
 	if len(row) == 0 {
 		script, _ := minimal.Diff(x, y)
-		return pairsOf(t, script, len(x), len(y))
+		keep, _ := edits.Keep(script, len(x), len(y))
+		return keep
 	}
-	var l []patience.Pair
+	var keep []int
 	i, j := 0, 0
 	for _, p := range row {
-		l = append(l, moved(keptByWords(t, x[i:p.X], y[j:p.Y]), i, j)...)
-		l = append(l, p)
+		keep = append(keep, samples.Shifted(keptByWords(x[i:p.X], y[j:p.Y]), j)...)
+		keep = append(keep, p.Y)
 		i, j = p.X+1, p.Y+1
 	}
-	return append(l, moved(keptByWords(t, x[i:], y[j:]), i, j)...)
+	return append(keep, samples.Shifted(keptByWords(x[i:], y[j:]), j)...)
 }
 
 // scriptByWords is what Diff answers, by the chapter's words.
 func scriptByWords(t *testing.T, x, y []int) []api.Change {
 	t.Helper()
-	keep := slices.Repeat([]int{-1}, len(x))
-	for _, p := range keptByWords(t, x, y) {
-		keep[p.X] = p.Y
-	}
+	keep := keptByWords(x, y)
 	script, err := edits.Make(keep, len(y))
-	if err != api.OK {
+	if err != api.OK || len(keep) != len(x) {
 		t.Fatalf("%v and %v: %v can't be kept", x, y, keep)
 	}
 	return script
@@ -279,30 +237,11 @@ func TestDiffOfAllShortTexts(t *testing.T) {
 	samples.Both(5, 4, byWords)
 }
 
-// mixed is texts of all lengths up to a greatest one, of few and of many classes, the same ones at each call.
-func mixed(count, length int, do func(x, y []int)) {
-	state := uint64(1)
-	next := func(below int) int {
-		state = state*6364136223846793005 + 1442695040888963407
-		return int(state >> 33 % uint64(below))
-	}
-	for range count {
-		classes := 2 + next(length)
-		var l [2][]int
-		for side := range l {
-			for range next(length + 1) {
-				l[side] = append(l[side], next(classes))
-			}
-		}
-		do(l[0], l[1])
-	}
-}
-
 // Longer texts have pieces within pieces.
 func TestDiffOfLongerTexts(t *testing.T) {
 	byWords := func(x, y []int) { checkDiff(t, x, y, scriptByWords(t, x, y), api.OK) }
-	mixed(20000, 16, byWords)
-	mixed(500, 60, byWords)
+	samples.Mixed(20000, 16, byWords)
+	samples.Mixed(500, 60, byWords)
 }
 
 // Which classes are the same counts alone, not which numbers they have.
@@ -326,44 +265,16 @@ func TestTooManyMembersAreRefused(t *testing.T) {
 	}
 }
 
-// nested is texts of which each piece has just one line that is there once, and behind it a piece of the same kind: what stands ahead of that line takes from the piece behind it what would be there once in the whole.
-func nested(depth int) (x, y []int, signs string) {
-	for n := depth; n > 0; n-- {
-		x = append(x, n-1, n)
-		y = append(y, -n, n)
-	}
-	return append(x, -depth-1), append(y, -depth-2), strings.Repeat("-+=", depth) + "-+"
-}
-
 func TestPiecesWithinPieces(t *testing.T) {
 	for _, depth := range []int{0, 1, 2, 3, 10, (api.MaxLines - 1) / 2} {
-		x, y, signs := nested(depth)
-		checkDiff(t, x, y, samples.Script(signs), api.OK)
+		c := samples.Nested(depth)
+		checkDiff(t, c.X, c.Y, samples.Script(c.Signs), api.OK)
 	}
 }
 
 func TestTheGreatestTexts(t *testing.T) {
-	const most = api.MaxLines
-	all, ones := samples.Count(0, most), slices.Repeat([]int{1}, most)
-	halves := slices.Concat(all[most/2:], all[:most/2])
-	for _, c := range []struct {
-		name string
-		x, y []int
-		want samples.Rows
-	}{
-		{"the same", all, all, nil},
-		{"the same member", ones, ones, nil},
-		{"nothing in common", all, samples.Count(most, most), samples.Rows{{0, most, 0, most}}},
-		{"none in x", nil, all, samples.Rows{{0, 0, 0, most}}},
-		{"none in y", all, nil, samples.Rows{{0, most, 0, 0}}},
-		{"the first has gone to the end", all, slices.Concat(all[1:], all[:1]), samples.Rows{{0, 1, 0, 0}, {most, 0, most - 1, 1}}},
-		{"the last has come to the front", all, slices.Concat(all[most-1:], all[:most-1]), samples.Rows{{0, 0, 0, 1}, {most - 1, 1, most, 0}}},
-		{"turned about", all, samples.Turned(all), samples.Rows{{0, 0, 0, most - 1}, {1, most - 1, most, 0}}},
-		{"halves exchanged", all, halves, samples.Rows{{0, 0, 0, most / 2}, {most / 2, most / 2, most, 0}}},
-		{"one of many", ones, []int{1}, samples.Rows{{1, most - 1, 1, 0}}},
-		{"one in the middle of many", []int{most / 2}, all, samples.Rows{{0, 0, 0, most / 2}, {1, 0, most/2 + 1, most/2 - 1}}},
-	} {
-		t.Run(c.name, func(t *testing.T) { checkDiff(t, c.x, c.y, c.want.Changes(), api.OK) })
+	for _, c := range samples.Great() {
+		t.Run(c.Name, func(t *testing.T) { checkDiff(t, c.X, c.Y, samples.Script(c.Signs), api.OK) })
 	}
 }
 
@@ -384,24 +295,18 @@ func TestTheGreatestPieceWithNothingThatIsThereOnce(t *testing.T) {
 
 func TestDiffKeepsPairsOfTheSameClass(t *testing.T) {
 	honest := func(x, y []int) {
-		script, err := patience.Diff(x, y)
-		if err != api.OK {
-			t.Fatalf("diff of %v and %v: %d", x, y, err)
-		}
-		for _, p := range pairsOf(t, script, len(x), len(y)) {
-			if x[p.X] != y[p.Y] {
-				t.Errorf("diff of %v and %v: %v keeps %d with %d", x, y, script, p.X, p.Y)
-			}
+		if script, err := patience.Diff(x, y); err != api.OK || !samples.Honest(script, x, y) {
+			t.Errorf("diff of %v and %v: %v, %d, which keeps others", x, y, script, err)
 		}
 	}
 	samples.Both(3, 5, honest)
 	samples.Both(5, 4, honest)
-	mixed(5000, 40, honest)
+	samples.Mixed(5000, 40, honest)
 }
 
 func TestEqualTextsHaveNoChanges(t *testing.T) {
 	samples.Lists(samples.Count(0, 4), 6, func(x []int) { checkDiff(t, x, slices.Clone(x), nil, api.OK) })
-	mixed(1000, 100, func(x, _ []int) { checkDiff(t, x, slices.Clone(x), nil, api.OK) })
+	samples.Mixed(1000, 100, func(x, _ []int) { checkDiff(t, x, slices.Clone(x), nil, api.OK) })
 }
 
 // inOneOrder tells whether the last promise speaks of two texts, and what of them must be kept.
@@ -421,17 +326,17 @@ func TestLinesThatAreThereOnceInOneOrderAreKept(t *testing.T) {
 			return
 		}
 		script, _ := patience.Diff(x, y)
-		kept := pairsOf(t, script, len(x), len(y))
+		keep, _ := edits.Keep(script, len(x), len(y))
 		for _, p := range once {
 			spoken++
-			if !slices.Contains(kept, p) {
+			if keep[p.X] != p.Y {
 				t.Errorf("diff of %v and %v: %v does not keep %v", x, y, script, p)
 			}
 		}
 	}
 	samples.Both(3, 5, hold)
 	samples.Both(5, 4, hold)
-	mixed(20000, 12, hold)
+	samples.Mixed(20000, 12, hold)
 	if spoken < 1000 {
 		t.Errorf("only %d lines were held against the promise", spoken)
 	}

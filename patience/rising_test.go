@@ -188,7 +188,7 @@ func TestLongestOfAllShortOrders(t *testing.T) {
 }
 
 func TestLongestOfLongerLists(t *testing.T) {
-	mixed(3000, 60, func(x, y []int) {
+	samples.Mixed(3000, 60, func(x, y []int) {
 		var l []patience.Pair
 		for i := range min(len(x), len(y)) {
 			l = append(l, patience.Pair{X: x[i], Y: y[i]})

@@ -3,6 +3,7 @@ package samples
 import (
 	"math"
 	"slices"
+	"strings"
 
 	"redline/api"
 )
@@ -15,6 +16,25 @@ func Both(classes, length int, do func(x, y []int)) {
 		for _, y := range l {
 			do(slices.Clone(x), slices.Clone(y))
 		}
+	}
+}
+
+// Mixed hands over count pairs of texts of all lengths up to a greatest one, of few and of many classes; the same ones at each call.
+func Mixed(count, length int, do func(x, y []int)) {
+	state := uint64(1)
+	next := func(below int) int {
+		state = state*6364136223846793005 + 1442695040888963407
+		return int(state >> 33 % uint64(below))
+	}
+	for range count {
+		classes := 2 + next(length)
+		var l [2][]int
+		for side := range l {
+			for range next(length + 1) {
+				l[side] = append(l[side], next(classes))
+			}
+		}
+		do(l[0], l[1])
 	}
 }
 
@@ -102,6 +122,37 @@ func Plain() []Case {
 		{"several times, others between", []int{1, 2, 1}, []int{1, 1}, "=-="},
 		{"only the class 0", []int{0}, []int{0, 0, 0}, "=++"},
 		{"a class and its opposite", []int{-1, 1}, []int{1}, "-="},
+	}
+}
+
+// Nested is texts of which each piece has just one line that is there once in both, and behind it a piece of the same kind: what stands ahead of that line takes from the piece behind it what would be there once in the whole.
+func Nested(depth int) Case {
+	var x, y []int
+	for n := depth; n > 0; n-- {
+		x = append(x, n-1, n)
+		y = append(y, -n, n)
+	}
+	return Case{"pieces within pieces", append(x, -depth-1), append(y, -depth-2), strings.Repeat("-+=", depth) + "-+"}
+}
+
+// Great is pairs of texts as long as may be, of which the engines that hold on to rare lines keep the same.
+func Great() []Case {
+	const most, half = api.MaxLines, api.MaxLines / 2
+	all, ones := Count(0, most), slices.Repeat([]int{1}, most)
+	signs := func(sign string) string { return strings.Repeat(sign, most) }
+	same, goes, comes := signs("="), signs("-"), signs("+")
+	return []Case{
+		{"the same", all, all, same},
+		{"the same member", ones, ones, same},
+		{"nothing in common", all, Count(most, most), goes + comes},
+		{"none in x", nil, all, comes},
+		{"none in y", all, nil, goes},
+		{"the first has gone to the end", all, slices.Concat(all[1:], all[:1]), "-" + same[1:] + "+"},
+		{"the last has come to the front", all, slices.Concat(all[most-1:], all[:most-1]), "+" + same[1:] + "-"},
+		{"turned about", all, Turned(all), comes[1:] + "=" + goes[1:]},
+		{"halves exchanged", all, slices.Concat(all[half:], all[:half]), comes[half:] + same[half:] + goes[half:]},
+		{"one of many", ones, []int{1}, "=" + goes[1:]},
+		{"one in the middle of many", []int{half}, all, comes[half:] + "=" + comes[half+1:]},
 	}
 }
 

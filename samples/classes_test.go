@@ -1,6 +1,7 @@
 package samples_test
 
 import (
+	"fmt"
 	"slices"
 	"strings"
 	"testing"
@@ -69,23 +70,49 @@ func TestRenamedGoesByPlaces(t *testing.T) {
 	}
 }
 
+func TestMixedTextsAreOfAllLengthsAndTheSameEachTime(t *testing.T) {
+	var told [2][]string
+	lengths := map[int]int{}
+	for i := range told {
+		samples.Mixed(200, 5, func(x, y []int) {
+			told[i] = append(told[i], fmt.Sprint(x, y))
+			lengths[len(x)]++
+			lengths[len(y)]++
+		})
+	}
+	if len(told[0]) != 200 || !slices.Equal(told[0], told[1]) {
+		t.Errorf("%d texts, then %d", len(told[0]), len(told[1]))
+	}
+	if len(lengths) != 6 || lengths[0] == 0 || lengths[5] == 0 {
+		t.Errorf("lengths %v", lengths)
+	}
+}
+
 // The signs of a case must fit its texts, and keep the same classes: else it would ask for what no engine may answer.
-func TestPlainCasesFit(t *testing.T) {
-	for _, c := range samples.Plain() {
-		i, j := 0, 0
-		for _, sign := range c.Signs {
-			if sign == '=' && (i == len(c.X) || j == len(c.Y) || c.X[i] != c.Y[j]) {
-				t.Fatalf("%s: %q keeps another class", c.Name, c.Signs)
-			}
-			if sign != '+' {
-				i++
-			}
-			if sign != '-' {
-				j++
-			}
+func TestCasesFit(t *testing.T) {
+	for _, c := range slices.Concat(samples.Plain(), samples.Great(), []samples.Case{samples.Nested(0), samples.Nested(3)}) {
+		n := len(c.X) + strings.Count(c.Signs, "+")
+		m := len(c.Y) + strings.Count(c.Signs, "-")
+		if !samples.Honest(samples.Script(c.Signs), c.X, c.Y) || n != len(c.Signs) || m != len(c.Signs) {
+			t.Errorf("%s: %.100q keeps another class, or is of more or fewer members", c.Name, c.Signs)
 		}
-		if i != len(c.X) || j != len(c.Y) || strings.Trim(c.Signs, "=-+") != "" {
-			t.Errorf("%s: %q is of %d and %d members", c.Name, c.Signs, i, j)
+		if strings.Trim(c.Signs, "=-+") != "" {
+			t.Errorf("%s: %.100q has other signs", c.Name, c.Signs)
+		}
+	}
+}
+
+func TestNestedHasAPieceWithinEachPiece(t *testing.T) {
+	c := samples.Nested(2)
+	if !slices.Equal(c.X, []int{1, 2, 0, 1, -3}) || !slices.Equal(c.Y, []int{-2, 2, -1, 1, -4}) || c.Signs != "-+=-+=-+" {
+		t.Errorf("%v, %v, %s", c.X, c.Y, c.Signs)
+	}
+}
+
+func TestGreatTextsAreAsLongAsMayBe(t *testing.T) {
+	for _, c := range samples.Great() {
+		if max(len(c.X), len(c.Y)) != api.MaxLines {
+			t.Errorf("%s: %d and %d members", c.Name, len(c.X), len(c.Y))
 		}
 	}
 }
