@@ -62,13 +62,18 @@ func (p Piece) KeepEnds() Piece {
 	return p
 }
 
-// KeepMost keeps what the least edit script keeps. No error is looked at: the pieces are no longer than the texts, which have been let in.
-func (p Piece) KeepMost() {
-	script, _ := minimal.Diff(p.X, p.Y)
-	keep, _ := edits.Keep(script, len(p.X), len(p.Y))
-	for x, y := range keep {
+// KeepAt keeps each member of X with the place of Y that stands for it in a list of all of them, or not at all where that is -1.
+func (p Piece) KeepAt(places []int) {
+	for x, y := range places {
 		if y != -1 {
 			p.Keep(x, y, 1)
 		}
 	}
+}
+
+// KeepMost keeps what the least edit script keeps. No error is looked at: the pieces are no longer than the texts, which have been let in.
+func (p Piece) KeepMost() {
+	script, _ := minimal.Diff(p.X, p.Y)
+	places, _ := edits.Keep(script, len(p.X), len(p.Y))
+	p.KeepAt(places)
 }

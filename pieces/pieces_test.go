@@ -73,6 +73,9 @@ func TestKeepGoesByPlacesOfThePiece(t *testing.T) {
 		{"up to places", func(p pieces.Piece) { p.UpTo(4, 5).Keep(2, 3, 2) }, "--+++==--++"},
 		{"up to places, from places on", func(p pieces.Piece) { p.UpTo(4, 5).From(1, 2).Keep(1, 1, 2) }, "--+++==--++"},
 		{"from places on, up to places", func(p pieces.Piece) { p.From(1, 2).UpTo(3, 3).Keep(1, 1, 2) }, "--+++==--++"},
+		{"at places", func(p pieces.Piece) { p.KeepAt([]int{-1, 0, -1, 4, 5, -1}) }, "-=-+++==-+"},
+		{"at no places", func(p pieces.Piece) { p.KeepAt(samples.None(6)) }, "------+++++++"},
+		{"at places of a piece", func(p pieces.Piece) { p.UpTo(4, 5).From(1, 2).KeepAt([]int{-1, 1, 2}) }, "--+++==--++"},
 		{"in two pieces", func(p pieces.Piece) {
 			p.UpTo(2, 2).Keep(1, 0, 1)
 			p.From(3, 4).Keep(0, 1, 1)
