@@ -78,32 +78,6 @@ func checkClasses(t *testing.T, a, b []string, o api.Ignore, x, y []int, size in
 	}
 }
 
-// pair is two lines that are not the same bytes, and what makes them count as the same.
-type pair struct {
-	a, b string
-	o    api.Ignore
-}
-
-// pairs has some for each of the options, and for some together.
-func pairs() []pair {
-	return []pair{
-		{"a b\n", "a \t b\n", api.Ignore{Space: true}},
-		{"a\n", "a  \n", api.Ignore{Space: true}},
-		{"\n", " \t\r\n", api.Ignore{Space: true}},
-		{"ab\n", " a\tb \n", api.Ignore{White: true}},
-		{"", " \v\f", api.Ignore{White: true}},
-		{"a\n", "A\n", api.Ignore{Case: true}},
-		{"xYz", "XyZ", api.Ignore{Case: true}},
-		{"a\tb\n", "a       b\n", api.Ignore{Tabs: true}},
-		{"\t", "        ", api.Ignore{Tabs: true}},
-		{"a\n", "a\r\n", api.Ignore{Trail: true}},
-		{"", "\t", api.Ignore{Trail: true}},
-		{"A  b\n", "a b \n", api.Ignore{Case: true, Space: true}},
-		{"\tA\n", "        a \n", api.Ignore{Case: true, Tabs: true, Trail: true}},
-		{"A B", "\tab", all},
-	}
-}
-
 // strangers are lines no two of which count as the same, whatever is ignored.
 func strangers() []string {
 	return []string{"a\n", "b\n", "a", "\n", "", "0\n", "[\n", "{\n", "@\n", "`\n", "\x00\n", "\xff\n", "\xfe\n", "\ufffd\n", "Ä\n", "ä\n", "\u00a0\n"}
@@ -181,9 +155,9 @@ func TestLookChangesNothing(t *testing.T) {
 }
 
 func TestLinesThatCountAsTheSame(t *testing.T) {
-	for _, p := range pairs() {
-		for _, l := range [][]string{{p.a, p.b}, {p.b, p.a}} {
-			table := intern.New(p.o)
+	for _, p := range samples.Alikes() {
+		for _, l := range [][]string{{p.A, p.B}, {p.B, p.A}} {
+			table := intern.New(p.Ignored)
 			checkClass(t, table, "first\n", 0, 1)
 			checkLook(t, table, l[1], -1)
 			checkClass(t, table, l[0], 1, 2)
@@ -357,11 +331,11 @@ func TestClassesOfEdges(t *testing.T) {
 }
 
 func TestClassesOfAPairUnderItsOption(t *testing.T) {
-	for _, p := range pairs() {
-		checkClasses(t, []string{p.a}, []string{p.b}, p.o, []int{0}, []int{0}, 1)
-		checkClasses(t, []string{p.a, p.b}, nil, p.o, []int{0, 0}, nil, 1)
-		checkClasses(t, nil, []string{p.a, p.b}, p.o, nil, []int{0, 0}, 1)
-		checkClasses(t, []string{p.a}, []string{p.b}, none, []int{0}, []int{1}, 2)
+	for _, p := range samples.Alikes() {
+		checkClasses(t, []string{p.A}, []string{p.B}, p.Ignored, []int{0}, []int{0}, 1)
+		checkClasses(t, []string{p.A, p.B}, nil, p.Ignored, []int{0, 0}, nil, 1)
+		checkClasses(t, nil, []string{p.A, p.B}, p.Ignored, nil, []int{0, 0}, 1)
+		checkClasses(t, []string{p.A}, []string{p.B}, none, []int{0}, []int{1}, 2)
 	}
 }
 
@@ -454,8 +428,8 @@ func TestOneNumberJustIfTheSame(t *testing.T) {
 	var short []string
 	samples.Lines("aA\t ", 2, func(line string) { short = append(short, line) })
 	l := slices.Concat(short, strangers(), noLines(), short)
-	for _, p := range pairs() {
-		l = append(l, p.a, p.b)
+	for _, p := range samples.Alikes() {
+		l = append(l, p.A, p.B)
 	}
 	for _, o := range samples.Ignores() {
 		table := intern.New(o)

@@ -3,6 +3,7 @@ package samples
 import (
 	"math"
 	"slices"
+	"strconv"
 	"strings"
 
 	"redline/api"
@@ -51,6 +52,15 @@ func Count(from, length int) []int {
 func Turned[T any](l []T) []T {
 	l = slices.Clone(l)
 	slices.Reverse(l)
+	return l
+}
+
+// Text is a line for each class, the same one just for the same class.
+func Text(x []int) []string {
+	l := make([]string, len(x))
+	for i, class := range x {
+		l[i] = "line " + strconv.Itoa(class) + "\n"
+	}
 	return l
 }
 

@@ -49,6 +49,16 @@ func TestTurnedLeavesTheListAlone(t *testing.T) {
 	}
 }
 
+func TestTextHasALineForEachClass(t *testing.T) {
+	want := []string{"line 0\n", "line -1\n", "line 10\n", "line 0\n"}
+	if l := samples.Text([]int{0, -1, 10, 0}); !slices.Equal(l, want) {
+		t.Errorf("text %q, want %q", l, want)
+	}
+	if l := samples.Text(nil); len(l) != 0 {
+		t.Errorf("text of none: %q", l)
+	}
+}
+
 func TestClassesGoByBytes(t *testing.T) {
 	if l := samples.Classes("a\x00\x80\xff"); !slices.Equal(l, []int{97, 0, -128, -1}) {
 		t.Errorf("classes %v", l)

@@ -1,4 +1,4 @@
-// Package samples makes what the tests of all layers hold the calls against: every short text, line and list, every choice of what is ignored, edit scripts, pairs of texts for all engines; and it tells whether lists were left alone, and are apart. The layers themselves do not call it.
+// Package samples makes what the tests of all layers hold the calls against: every short text, line and list, every choice of what is ignored, lines that count as the same, edit scripts, pairs of texts for all engines; and it tells whether lists were left alone, and are apart. The layers themselves do not call it.
 package samples
 
 import "redline/api"
@@ -34,6 +34,32 @@ func Ignores() []api.Ignore {
 		l = append(l, api.Ignore{Space: n&1 != 0, White: n&2 != 0, Blank: n&4 != 0, Case: n&8 != 0, Tabs: n&16 != 0, Trail: n&32 != 0})
 	}
 	return l
+}
+
+// Alike is two lines that are not the same bytes, and what makes them count as the same.
+type Alike struct {
+	A, B    string
+	Ignored api.Ignore
+}
+
+// Alikes has some for each kind of difference that is ignored in lines, and for several at once.
+func Alikes() []Alike {
+	return []Alike{
+		{"a b\n", "a \t b\n", api.Ignore{Space: true}},
+		{"a\n", "a  \n", api.Ignore{Space: true}},
+		{"\n", " \t\r\n", api.Ignore{Space: true}},
+		{"ab\n", " a\tb \n", api.Ignore{White: true}},
+		{"", " \v\f", api.Ignore{White: true}},
+		{"a\n", "A\n", api.Ignore{Case: true}},
+		{"xYz", "XyZ", api.Ignore{Case: true}},
+		{"a\tb\n", "a       b\n", api.Ignore{Tabs: true}},
+		{"\t", "        ", api.Ignore{Tabs: true}},
+		{"a\n", "a\r\n", api.Ignore{Trail: true}},
+		{"", "\t", api.Ignore{Trail: true}},
+		{"A  b\n", "a b \n", api.Ignore{Case: true, Space: true}},
+		{"\tA\n", "        a \n", api.Ignore{Case: true, Tabs: true, Trail: true}},
+		{"A B", "\tab", api.Ignore{Space: true, White: true, Blank: true, Case: true, Tabs: true, Trail: true}},
+	}
 }
 
 // Rows is changes as rows of numbers: A, AN, B and BN of each.

@@ -67,6 +67,22 @@ func TestIgnoresAreAllChoices(t *testing.T) {
 	}
 }
 
+// Alikes must not be the same, and there must be some for each kind of difference alone, and for several.
+func TestAlikesAreOfEachKind(t *testing.T) {
+	alone := map[api.Ignore]int{}
+	for _, p := range samples.Alikes() {
+		if p.A == p.B {
+			t.Errorf("%q is the same", p.A)
+		}
+		alone[p.Ignored]++
+	}
+	for _, o := range []api.Ignore{{Space: true}, {White: true}, {Case: true}, {Tabs: true}, {Trail: true}, {Case: true, Space: true}} {
+		if alone[o] == 0 {
+			t.Errorf("no lines for %+v", o)
+		}
+	}
+}
+
 func TestRowsAreChanges(t *testing.T) {
 	if l := (samples.Rows{}).Changes(); len(l) != 0 {
 		t.Errorf("no rows: %v", l)
