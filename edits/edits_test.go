@@ -68,15 +68,6 @@ func scriptByWords(keep []int, m int) []api.Change {
 	return l
 }
 
-// textOf is n lines, each with a name of its own.
-func textOf(name string, n int) []string {
-	l := make([]string, n)
-	for i := range l {
-		l[i] = name + strconv.Itoa(i) + "\n"
-	}
-	return l
-}
-
 // scripts hands over every right edit script from n to m lines, with what it keeps.
 func scripts(n, m int, do func(l []api.Change, keep []int)) {
 	keptBy(n, m, func(keep []int) { do(scriptByWords(keep, m), keep) })
@@ -483,7 +474,7 @@ func TestScriptsHaveNoLimit(t *testing.T) {
 	checkKeep(t, l, n, m, keep, api.OK)
 	checkCompose(t, l, edits.Invert(l), n, m, n, scriptOfPairs(n), api.OK)
 	checkCompose(t, edits.Invert(l), l, m, n, m, edits.Invert(scriptBack(m)), api.OK)
-	b := textOf("b", m)
+	b := samples.Named("b", m)
 	a := make([]string, n)
 	for i, line := range keep {
 		if line >= 0 {
@@ -519,7 +510,7 @@ func scriptBack(m int) []api.Change {
 func TestApplyOfEdges(t *testing.T) {
 	for _, c := range rightCases() {
 		t.Run(c.name, func(t *testing.T) {
-			a, b := textOf("a", c.n), textOf("b", c.m)
+			a, b := samples.Named("a", c.n), samples.Named("b", c.m)
 			checkApply(t, c.l, a, b, appliedByWords(a, b, c.keep), api.OK)
 		})
 	}
@@ -552,7 +543,7 @@ func appliedByWords(a, b []string, keep []int) []string {
 
 func TestApplyOfAllShortScripts(t *testing.T) {
 	sizes(2, 5, func(n []int) {
-		a, b := textOf("a", n[0]), textOf("b", n[1])
+		a, b := samples.Named("a", n[0]), samples.Named("b", n[1])
 		scripts(n[0], n[1], func(l []api.Change, keep []int) {
 			checkApply(t, l, a, b, appliedByWords(a, b, keep), api.OK)
 		})
@@ -562,11 +553,11 @@ func TestApplyOfAllShortScripts(t *testing.T) {
 func TestApplyOfListsThatDoNotFit(t *testing.T) {
 	for _, c := range wrongCases() {
 		if c.n >= 0 && c.n < 9 && c.m >= 0 && c.m < 9 {
-			checkApply(t, c.l, textOf("a", c.n), textOf("b", c.m), nil, api.ErrScript)
+			checkApply(t, c.l, samples.Named("a", c.n), samples.Named("b", c.m), nil, api.ErrScript)
 		}
 	}
 	for _, c := range rightCases() {
-		a, b := textOf("a", c.n), textOf("b", c.m)
+		a, b := samples.Named("a", c.n), samples.Named("b", c.m)
 		more := []string{"more"}
 		checkApply(t, c.l, slices.Concat(a, more), b, nil, api.ErrScript)
 		checkApply(t, c.l, a, slices.Concat(b, more), nil, api.ErrScript)
@@ -862,9 +853,9 @@ func TestInvertGoesBack(t *testing.T) {
 
 func TestApplyOfLinesThatAreTheSame(t *testing.T) {
 	sizes(2, 4, func(n []int) {
-		b := textOf("b", n[1])
+		b := samples.Named("b", n[1])
 		scripts(n[0], n[1], func(l []api.Change, keep []int) {
-			a := textOf("a", n[0])
+			a := samples.Named("a", n[0])
 			for i, line := range keep {
 				if line != -1 {
 					a[i] = b[line]
@@ -951,7 +942,7 @@ func FuzzAnyScripts(f *testing.F) {
 		checkCheck(t, x, n, m, api.OK)
 		checkMake(t, p, m, x, api.OK)
 		checkKeep(t, x, n, m, p, api.OK)
-		a, b := textOf("a", n), textOf("b", m)
+		a, b := samples.Named("a", n), samples.Named("b", m)
 		checkApply(t, x, a, b, appliedByWords(a, b, p), api.OK)
 		checkCompose(t, x, y, n, m, k, scriptByWords(composedByWords(p, q), k), api.OK)
 	})

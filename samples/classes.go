@@ -64,6 +64,15 @@ func Text(x []int) []string {
 	return l
 }
 
+// Named is n lines, each with a name of its own: the one given, and its number from 0 on.
+func Named(name string, n int) []string {
+	l := make([]string, n)
+	for i := range l {
+		l[i] = name + strconv.Itoa(i) + "\n"
+	}
+	return l
+}
+
 // Classes is a class a byte, some of them below 0.
 func Classes(s string) []int {
 	l := make([]int, len(s))

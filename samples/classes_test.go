@@ -59,6 +59,15 @@ func TestTextHasALineForEachClass(t *testing.T) {
 	}
 }
 
+func TestNamedLinesAreNumbered(t *testing.T) {
+	if l := samples.Named("a", 3); !slices.Equal(l, []string{"a0\n", "a1\n", "a2\n"}) {
+		t.Errorf("%q", l)
+	}
+	if l := samples.Named("a", 0); len(l) != 0 {
+		t.Errorf("none: %q", l)
+	}
+}
+
 func TestClassesGoByBytes(t *testing.T) {
 	if l := samples.Classes("a\x00\x80\xff"); !slices.Equal(l, []int{97, 0, -128, -1}) {
 		t.Errorf("classes %v", l)

@@ -1,0 +1,55 @@
+package samples_test
+
+import (
+	"slices"
+	"testing"
+
+	"redline/api"
+	"redline/samples"
+)
+
+func TestMarksGoByTheirFirstBytes(t *testing.T) {
+	want := []api.Mark{{Sign: ' ', Text: "a\n"}, {Sign: '-', Text: ""}, {Sign: '+', Text: "b\nc"}, {Sign: 'x', Text: "-\n"}, {Sign: 0, Text: "\x00"}}
+	if l := samples.Marks(" a\n", "-", "+b\nc", "x-\n", "\x00\x00"); !slices.Equal(l, want) {
+		t.Errorf("%q", l)
+	}
+	if l := samples.Marks(); len(l) != 0 {
+		t.Errorf("of nothing: %q", l)
+	}
+}
+
+func TestHunkHasNumbersAndLines(t *testing.T) {
+	h := samples.Hunk([4]int{1, 2, 3, 4}, "-a\n")
+	if h.A != 1 || h.AN != 2 || h.B != 3 || h.BN != 4 || len(h.Lines) != 1 || h.Lines[0] != (api.Mark{Sign: '-', Text: "a\n"}) {
+		t.Errorf("%+v", h)
+	}
+}
+
+func TestSameHunkSeesEachDifference(t *testing.T) {
+	h := samples.Hunk([4]int{1, 2, 3, 4}, "-a\n", " b\n")
+	for _, other := range []api.Hunk{
+		samples.Hunk([4]int{2, 2, 3, 4}, "-a\n", " b\n"),
+		samples.Hunk([4]int{1, 3, 3, 4}, "-a\n", " b\n"),
+		samples.Hunk([4]int{1, 2, 4, 4}, "-a\n", " b\n"),
+		samples.Hunk([4]int{1, 2, 3, 5}, "-a\n", " b\n"),
+		samples.Hunk([4]int{1, 2, 3, 4}, "+a\n", " b\n"),
+		samples.Hunk([4]int{1, 2, 3, 4}, "-a\n", " c\n"),
+		samples.Hunk([4]int{1, 2, 3, 4}, "-a\n"),
+		samples.Hunk([4]int{1, 2, 3, 4}, "-a\n", " b\n", " b\n"),
+		{A: 1, AN: 2, B: 3, BN: 4},
+		{},
+	} {
+		if samples.SameHunk(h, other) || samples.SameHunk(other, h) || samples.SameHunks([]api.Hunk{h, h}, []api.Hunk{h, other}) {
+			t.Errorf("%+v counts as %+v", h, other)
+		}
+	}
+	if !samples.SameHunk(h, samples.Hunk([4]int{1, 2, 3, 4}, "-a\n", " b\n")) {
+		t.Errorf("%+v is not itself", h)
+	}
+	if samples.SameHunks([]api.Hunk{h}, []api.Hunk{h, h}) || samples.SameHunks([]api.Hunk{h}, nil) {
+		t.Error("rows of different lengths count as the same")
+	}
+	if !samples.SameHunks(nil, []api.Hunk{}) || !samples.SameHunks([]api.Hunk{{}, h}, []api.Hunk{{Lines: []api.Mark{}}, h}) {
+		t.Error("rows that are the same do not count so")
+	}
+}
