@@ -139,7 +139,7 @@ func TestMoreContextNeverMakesMoreHunks(t *testing.T) {
 	for run := 1; run <= 205; run += 6 {
 		signs += kept(run) + "+"
 	}
-	a, b := textsOf(signs)
+	a, b := samples.Pair(signs)
 	script := samples.Script(signs)
 	fewest := len(script)
 	for context := 0; context <= api.MaxContext; context++ {
@@ -171,7 +171,7 @@ const (
 // aHandedIn is one for signs.
 func aHandedIn(t *testing.T, signs string) handedIn {
 	t.Helper()
-	a, b := textsOf(signs)
+	a, b := samples.Pair(signs)
 	script := samples.Script(signs)
 	made, err := hunks.Make(script, a, b, 1)
 	if err != api.OK {
@@ -267,7 +267,7 @@ func TestAnswersAreNewMemory(t *testing.T) {
 
 func TestGroupsOfOneAnswerAreApart(t *testing.T) {
 	signs := "-=+===-=+===-=+"
-	a, b := textsOf(signs)
+	a, b := samples.Pair(signs)
 	groups, _ := hunks.Group(samples.Script(signs), len(a), len(b), 1)
 	again, _ := hunks.Group(samples.Script(signs), len(a), len(b), 1)
 	groups[0] = nil
@@ -294,7 +294,7 @@ func FuzzMake(f *testing.F) {
 	f.Add("\x03"+strings.Repeat("\x00", 201)+"\x04", 100)
 	f.Fuzz(func(t *testing.T, s string, context int) {
 		signs := signsFrom(s)
-		a, b := textsOf(signs)
+		a, b := samples.Pair(signs)
 		if context < 0 || context > api.MaxContext {
 			checkGroup(t, samples.Script(signs), len(a), len(b), context, nil, api.ErrRange)
 			checkMake(t, samples.Script(signs), a, b, context, nil, api.ErrRange)

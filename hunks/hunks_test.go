@@ -33,12 +33,6 @@ func told(x any) string {
 	return fmt.Sprintf("%.300s", fmt.Sprintf("%+v", x))
 }
 
-// textsOf are as many lines as signs (= is kept, - taken out, + put in) say of both texts, no two of them alike, not even those that are kept.
-func textsOf(signs string) (a, b []string) {
-	n, m := len(signs)-strings.Count(signs, "+"), len(signs)-strings.Count(signs, "-")
-	return samples.Named("a", n), samples.Named("b", m)
-}
-
 // checkGroup holds Group against what it must answer.
 func checkGroup(t *testing.T, l []api.Change, n, m, context int, want [][]api.Change, code api.Errno) {
 	t.Helper()
@@ -129,7 +123,7 @@ func makeByWords(signs string, a, b []string, context int) []api.Hunk {
 // checkByWords holds Group and Make against the chapter's words.
 func checkByWords(t *testing.T, signs string, context int) {
 	t.Helper()
-	a, b := textsOf(signs)
+	a, b := samples.Pair(signs)
 	l := samples.Script(signs)
 	checkGroup(t, l, len(a), len(b), context, groupByWords(signs, context), api.OK)
 	checkMake(t, l, a, b, context, makeByWords(signs, a, b, context), api.OK)
@@ -137,27 +131,6 @@ func checkByWords(t *testing.T, signs string, context int) {
 
 // kept is signs of n lines that are kept.
 func kept(n int) string { return strings.Repeat("=", n) }
-
-// wrongScripts are changes that are no right script between four lines and four.
-func wrongScripts() [][]api.Change {
-	return [][]api.Change{
-		rows{{0, 1, 0, 0}}.Changes(),
-		rows{{0, 0, 0, 0}}.Changes(),
-		rows{{1, 1, 2, 1}}.Changes(),
-		rows{{-1, 1, -1, 1}}.Changes(),
-		rows{{0, -1, 0, -1}}.Changes(),
-		rows{{4, 1, 4, 1}}.Changes(),
-		rows{{0, 5, 0, 5}}.Changes(),
-		rows{{0, 1, 0, 1}, {1, 1, 1, 1}}.Changes(),
-		rows{{2, 1, 2, 1}, {0, 1, 0, 1}}.Changes(),
-		rows{{1, 1, 1, 1}, {1, 1, 1, 1}}.Changes(),
-		rows{{api.MaxNumber + 1, 1, api.MaxNumber + 1, 1}}.Changes(),
-		rows{{math.MaxInt, 1, math.MaxInt, 1}}.Changes(),
-		rows{{0, math.MaxInt, 0, math.MaxInt}}.Changes(),
-		rows{{math.MinInt, 1, math.MinInt, 1}}.Changes(),
-		rows{{0, 1, 0, 1}, {math.MaxInt, math.MaxInt, math.MaxInt, math.MaxInt}}.Changes(),
-	}
-}
 
 // Promises 11.1 and 11.2.
 
@@ -233,8 +206,8 @@ func TestGroupOfLongTexts(t *testing.T) {
 }
 
 func TestWrongScriptsAreToldAheadOfTheContext(t *testing.T) {
-	a, b := textsOf("====")
-	for _, l := range wrongScripts() {
+	a, b := samples.Pair("====")
+	for _, l := range samples.WrongScripts() {
 		for _, context := range slices.Concat(contexts(), strangers()) {
 			checkGroup(t, l, 4, 4, context, nil, api.ErrScript)
 			checkMake(t, l, a, b, context, nil, api.ErrScript)
@@ -258,7 +231,7 @@ func TestWrongScriptsAreToldAheadOfTheContext(t *testing.T) {
 func TestContextsThatAreNone(t *testing.T) {
 	for _, context := range strangers() {
 		for _, signs := range []string{"", "=", "-", "+", "=-+=", "-==+" + kept(300) + "-"} {
-			a, b := textsOf(signs)
+			a, b := samples.Pair(signs)
 			checkGroup(t, samples.Script(signs), len(a), len(b), context, nil, api.ErrRange)
 			checkMake(t, samples.Script(signs), a, b, context, nil, api.ErrRange)
 		}
@@ -282,7 +255,7 @@ type makeCase struct {
 	want    []api.Hunk
 }
 
-// makeCases are the edges of where changes may stand; the texts are those that textsOf makes.
+// makeCases are the edges of where changes may stand; the texts are those that samples.Pair makes.
 func makeCases() []makeCase {
 	return []makeCase{
 		{"no lines at all", "", 3, nil},
@@ -322,7 +295,7 @@ func makeCases() []makeCase {
 func TestMakeOfEdges(t *testing.T) {
 	for _, c := range makeCases() {
 		t.Run(c.name, func(t *testing.T) {
-			a, b := textsOf(c.signs)
+			a, b := samples.Pair(c.signs)
 			checkMake(t, samples.Script(c.signs), a, b, c.context, c.want, api.OK)
 			checkByWords(t, c.signs, c.context)
 		})
@@ -375,7 +348,7 @@ func TestGroupAndMakeHaveNoLimit(t *testing.T) {
 // Of a right script every change is in just one group, and in one hunk.
 func TestGroupsTogetherAreTheScript(t *testing.T) {
 	samples.Texts("=-+", 7, func(signs string) {
-		a, b := textsOf(signs)
+		a, b := samples.Pair(signs)
 		l := samples.Script(signs)
 		for context := range 3 {
 			groups, _ := hunks.Group(l, len(a), len(b), context)

@@ -1,6 +1,7 @@
 package samples
 
 import (
+	"errors"
 	"slices"
 
 	"redline/api"
@@ -28,4 +29,15 @@ func SameHunk(x, y api.Hunk) bool {
 // SameHunks tells whether two rows of hunks are the same.
 func SameHunks(x, y []api.Hunk) bool {
 	return slices.EqualFunc(x, y, SameHunk)
+}
+
+// IsFault tells whether an error is a fault at that place, with that number itself, and errors.As and errors.Is find them.
+func IsFault(err error, at int, code api.Errno) bool {
+	fault, plain := err.(*api.Fault)
+	if !plain || fault == nil {
+		return false
+	}
+	number, plain := fault.Err.(api.Errno)
+	var found *api.Fault
+	return plain && number == code && fault.At == at && errors.As(err, &found) && found == fault && errors.Is(err, code)
 }

@@ -1,6 +1,7 @@
 package samples_test
 
 import (
+	"errors"
 	"slices"
 	"testing"
 
@@ -51,5 +52,28 @@ func TestSameHunkSeesEachDifference(t *testing.T) {
 	}
 	if !samples.SameHunks(nil, []api.Hunk{}) || !samples.SameHunks([]api.Hunk{{}, h}, []api.Hunk{{Lines: []api.Mark{}}, h}) {
 		t.Error("rows that are the same do not count so")
+	}
+}
+
+// wrapped is an error around another one.
+type wrapped struct{ error }
+
+// Unwrap is the inner one.
+func (w wrapped) Unwrap() error { return w.error }
+
+func TestIsFaultSeesEachDifference(t *testing.T) {
+	right := &api.Fault{At: 3, Err: api.ErrText}
+	if !samples.IsFault(right, 3, api.ErrText) || !samples.IsFault(&api.Fault{Err: api.ErrLong}, 0, api.ErrLong) {
+		t.Error("a fault does not count as one")
+	}
+	var missing *api.Fault
+	for _, err := range []error{
+		nil, missing, api.ErrText, errors.New("3: error 3"), wrapped{right}, wrapped{api.ErrText},
+		&api.Fault{At: 3}, &api.Fault{At: 3, Err: api.ErrLong}, &api.Fault{At: 4, Err: api.ErrText},
+		&api.Fault{At: 3, Err: wrapped{api.ErrText}}, &api.Fault{At: 3, Err: errors.New("error 3")}, &api.Fault{At: 3, Err: right},
+	} {
+		if samples.IsFault(err, 3, api.ErrText) {
+			t.Errorf("%#v counts as the fault", err)
+		}
 	}
 }

@@ -1,7 +1,12 @@
-// Package samples makes what the tests of all layers hold the calls against: every short text, line and list, every choice of what is ignored, lines that count as the same, edit scripts, hunks, pairs of texts for all engines; and it tells whether lists were left alone, and are apart. The layers themselves do not call it.
+// Package samples makes what the tests of all layers hold the calls against: every short text, line and list, every choice of what is ignored, lines that count as the same, edit scripts, hunks, pairs of texts for all engines; and it tells whether lists were left alone, and are apart, and whether an error is a fault. The layers themselves do not call it.
 package samples
 
-import "redline/api"
+import (
+	"math"
+	"strings"
+
+	"redline/api"
+)
 
 // Texts hands over every text of at most length bytes out of those of alphabet, each once.
 func Texts(alphabet string, length int, do func(s string)) {
@@ -94,4 +99,31 @@ func Script(signs string) []api.Change {
 		}
 	}
 	return l
+}
+
+// Pair is as many lines as such signs say of both texts, no two of them alike, not even those that are kept.
+func Pair(signs string) (a, b []string) {
+	n, m := len(signs)-strings.Count(signs, "+"), len(signs)-strings.Count(signs, "-")
+	return Named("a", n), Named("b", m)
+}
+
+// WrongScripts are changes that are no right script between four lines and four.
+func WrongScripts() [][]api.Change {
+	return [][]api.Change{
+		Rows{{0, 1, 0, 0}}.Changes(),
+		Rows{{0, 0, 0, 0}}.Changes(),
+		Rows{{1, 1, 2, 1}}.Changes(),
+		Rows{{-1, 1, -1, 1}}.Changes(),
+		Rows{{0, -1, 0, -1}}.Changes(),
+		Rows{{4, 1, 4, 1}}.Changes(),
+		Rows{{0, 5, 0, 5}}.Changes(),
+		Rows{{0, 1, 0, 1}, {1, 1, 1, 1}}.Changes(),
+		Rows{{2, 1, 2, 1}, {0, 1, 0, 1}}.Changes(),
+		Rows{{1, 1, 1, 1}, {1, 1, 1, 1}}.Changes(),
+		Rows{{api.MaxNumber + 1, 1, api.MaxNumber + 1, 1}}.Changes(),
+		Rows{{math.MaxInt, 1, math.MaxInt, 1}}.Changes(),
+		Rows{{0, math.MaxInt, 0, math.MaxInt}}.Changes(),
+		Rows{{math.MinInt, 1, math.MinInt, 1}}.Changes(),
+		Rows{{0, 1, 0, 1}, {math.MaxInt, math.MaxInt, math.MaxInt, math.MaxInt}}.Changes(),
+	}
 }

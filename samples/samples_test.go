@@ -2,9 +2,11 @@ package samples_test
 
 import (
 	"slices"
+	"strings"
 	"testing"
 
 	"redline/api"
+	"redline/edits"
 	"redline/samples"
 )
 
@@ -109,6 +111,28 @@ func TestScriptsGoBySigns(t *testing.T) {
 	} {
 		if l := samples.Script(c.signs); !slices.Equal(l, c.want.Changes()) {
 			t.Errorf("script of %q: %v, want %v", c.signs, l, c.want)
+		}
+	}
+}
+
+func TestPairHasALineForEachSign(t *testing.T) {
+	for _, c := range []struct{ signs, a, b string }{
+		{"", "", ""},
+		{"=", "a0\n", "b0\n"},
+		{"--", "a0\na1\n", ""},
+		{"++", "", "b0\nb1\n"},
+		{"=-+=+", "a0\na1\na2\n", "b0\nb1\nb2\nb3\n"},
+	} {
+		if a, b := samples.Pair(c.signs); strings.Join(a, "") != c.a || strings.Join(b, "") != c.b {
+			t.Errorf("%q: %q and %q, want %q and %q", c.signs, a, b, c.a, c.b)
+		}
+	}
+}
+
+func TestWrongScriptsAreWrongBetweenFourLinesAndFour(t *testing.T) {
+	for _, l := range samples.WrongScripts() {
+		if err := edits.Check(l, 4, 4); err != api.ErrScript {
+			t.Errorf("%v: %d", l, err)
 		}
 	}
 }
