@@ -278,22 +278,13 @@ func TestGroupsOfOneAnswerAreApart(t *testing.T) {
 
 // Searches for what breaks a promise.
 
-// signsFrom is signs out of any bytes.
-func signsFrom(s string) string {
-	signs := []byte(s)
-	for i, c := range signs {
-		signs[i] = "===-+"[c%5]
-	}
-	return string(signs)
-}
-
 func FuzzMake(f *testing.F) {
 	f.Add("", 0)
 	f.Add("\x03\x00\x04", 1)
 	f.Add("\x00\x03\x04\x00\x00\x03\x00\x00\x00\x04\x03", 1)
 	f.Add("\x03"+strings.Repeat("\x00", 201)+"\x04", 100)
 	f.Fuzz(func(t *testing.T, s string, context int) {
-		signs := signsFrom(s)
+		signs := samples.Signs(s)
 		a, b := samples.Pair(signs)
 		if context < 0 || context > api.MaxContext {
 			checkGroup(t, samples.Script(signs), len(a), len(b), context, nil, api.ErrRange)

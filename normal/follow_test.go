@@ -40,9 +40,9 @@ func checkThereAndBack(t *testing.T, l []api.Change, a, b []string) {
 func checkAllEnds(t *testing.T, l []api.Change, a, b []string) {
 	t.Helper()
 	checkThereAndBack(t, l, a, b)
-	checkThereAndBack(t, l, unfed(a), b)
-	checkThereAndBack(t, l, a, unfed(b))
-	checkThereAndBack(t, l, unfed(a), unfed(b))
+	checkThereAndBack(t, l, samples.Unfed(a), b)
+	checkThereAndBack(t, l, a, samples.Unfed(b))
+	checkThereAndBack(t, l, samples.Unfed(a), samples.Unfed(b))
 }
 
 func TestWhatIsPrintedIsReadAgainOfAllShortTexts(t *testing.T) {
@@ -97,8 +97,8 @@ func checkEngines(t *testing.T, a, b []string, o api.Ignore) {
 func TestWhatIsPrintedIsReadAgainOfAllEngines(t *testing.T) {
 	samples.Both(2, 4, func(x, y []int) { checkEngines(t, samples.Text(x), samples.Text(y), api.Ignore{}) })
 	samples.Mixed(40, 60, func(x, y []int) {
-		checkEngines(t, samples.Text(x), unfed(samples.Text(y)), api.Ignore{})
-		checkEngines(t, unfed(samples.Text(x)), samples.Text(y), api.Ignore{Case: true})
+		checkEngines(t, samples.Text(x), samples.Unfed(samples.Text(y)), api.Ignore{})
+		checkEngines(t, samples.Unfed(samples.Text(x)), samples.Text(y), api.Ignore{Case: true})
 	})
 	samples.Mixed(4, 900, func(x, y []int) { checkEngines(t, samples.Text(x), samples.Text(y), api.Ignore{}) })
 	for _, c := range samples.Plain() {
@@ -193,34 +193,14 @@ func FuzzParse(f *testing.F) {
 	f.Fuzz(func(t *testing.T, text string) { checkByWords(t, text) })
 }
 
-// signsFrom is signs out of any bytes.
-func signsFrom(s string) string {
-	signs := []byte(s)
-	for i, c := range signs {
-		signs[i] = "===-+"[c%5]
-	}
-	return string(signs)
-}
-
-// linesFrom is n right lines: those of a text, and behind them others.
-func linesFrom(text string, n int) []string {
-	l := lines.Split(text)
-	for i, line := range l {
-		if i < n-1 && !strings.HasSuffix(line, "\n") {
-			l[i] += "\n"
-		}
-	}
-	return slices.Concat(l[:min(n, len(l))], samples.Named("more", max(n-len(l), 0)))
-}
-
 func FuzzPrint(f *testing.F) {
 	f.Add("", "", "")
 	f.Add("\x03\x04", "a\n", "b")
 	f.Add("\x00\x03\x04\x00\x00\x03\x00\x00\x00\x04\x03", "1\n\n---\n< a\n", "\\ No newline at end of file\nx\n1d0\n\n\x00")
 	f.Fuzz(func(t *testing.T, s, old, made string) {
-		signs := signsFrom(s)
+		signs := samples.Signs(s)
 		a, b := samples.Pair(signs)
-		a, b = linesFrom(old, len(a)), linesFrom(made, len(b))
+		a, b = samples.Right(old, len(a)), samples.Right(made, len(b))
 		l := samples.Script(signs)
 		checkPrint(t, l, a, b, printByWords(l, a, b), api.OK)
 		if len(l) <= api.MaxHunks && len(printByWords(l, a, b)) <= api.MaxText {

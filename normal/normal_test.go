@@ -2,7 +2,6 @@ package normal_test
 
 import (
 	"fmt"
-	"slices"
 	"strings"
 	"testing"
 
@@ -66,15 +65,6 @@ func printByWords(l []api.Change, a, b []string) string {
 		}
 	}
 	return strings.Join(s, "")
-}
-
-// unfed is lines of which the last one, if there is one, lacks its line feed.
-func unfed(l []string) []string {
-	l = slices.Clone(l)
-	if n := len(l); n > 0 {
-		l[n-1] = strings.TrimSuffix(l[n-1], "\n")
-	}
-	return l
 }
 
 // Promise 12.1.
@@ -191,9 +181,9 @@ func TestPrintOfAllShortTexts(t *testing.T) {
 		l := samples.Script(signs)
 		a, b := samples.Pair(signs)
 		checkPrint(t, l, a, b, printByWords(l, a, b), api.OK)
-		checkPrint(t, l, unfed(a), b, printByWords(l, unfed(a), b), api.OK)
-		checkPrint(t, l, a, unfed(b), printByWords(l, a, unfed(b)), api.OK)
-		checkPrint(t, l, unfed(a), unfed(b), printByWords(l, unfed(a), unfed(b)), api.OK)
+		checkPrint(t, l, samples.Unfed(a), b, printByWords(l, samples.Unfed(a), b), api.OK)
+		checkPrint(t, l, a, samples.Unfed(b), printByWords(l, a, samples.Unfed(b)), api.OK)
+		checkPrint(t, l, samples.Unfed(a), samples.Unfed(b), printByWords(l, samples.Unfed(a), samples.Unfed(b)), api.OK)
 	})
 }
 
