@@ -31,6 +31,13 @@ func SameHunks(x, y []api.Hunk) bool {
 	return slices.EqualFunc(x, y, SameHunk)
 }
 
+// SamePatches tells whether two rows of patches are the same.
+func SamePatches(x, y []api.Patch) bool {
+	return slices.EqualFunc(x, y, func(p, q api.Patch) bool {
+		return p.Old == q.Old && p.New == q.New && SameHunks(p.Hunks, q.Hunks)
+	})
+}
+
 // IsFault tells whether an error is a fault at that place, with that number itself, and errors.As and errors.Is find them.
 func IsFault(err error, at int, code api.Errno) bool {
 	fault, plain := err.(*api.Fault)

@@ -55,6 +55,31 @@ func TestSameHunkSeesEachDifference(t *testing.T) {
 	}
 }
 
+func TestSamePatchesSeesEachDifference(t *testing.T) {
+	h := samples.Hunk([4]int{1, 1, 1, 0}, "-a\n")
+	p := api.Patch{Old: "a", New: "b", Hunks: []api.Hunk{h}}
+	for _, other := range []api.Patch{
+		{},
+		{Old: "x", New: "b", Hunks: []api.Hunk{h}},
+		{Old: "a", New: "x", Hunks: []api.Hunk{h}},
+		{Old: "b", New: "a", Hunks: []api.Hunk{h}},
+		{Old: "a", New: "b"},
+		{Old: "a", New: "b", Hunks: []api.Hunk{h, h}},
+		{Old: "a", New: "b", Hunks: []api.Hunk{samples.Hunk([4]int{1, 1, 1, 0}, "-b\n")}},
+	} {
+		if samples.SamePatches([]api.Patch{p, p}, []api.Patch{p, other}) || samples.SamePatches([]api.Patch{other}, []api.Patch{p}) {
+			t.Errorf("%+v counts as %+v", p, other)
+		}
+	}
+	if samples.SamePatches([]api.Patch{p}, []api.Patch{p, p}) || samples.SamePatches([]api.Patch{p}, nil) {
+		t.Error("rows of different lengths count as the same")
+	}
+	same := api.Patch{Old: "a", New: "b", Hunks: []api.Hunk{samples.Hunk([4]int{1, 1, 1, 0}, "-a\n")}}
+	if !samples.SamePatches(nil, []api.Patch{}) || !samples.SamePatches([]api.Patch{{}, p}, []api.Patch{{Hunks: []api.Hunk{}}, same}) {
+		t.Error("rows that are the same do not count so")
+	}
+}
+
 // wrapped is an error around another one.
 type wrapped struct{ error }
 
