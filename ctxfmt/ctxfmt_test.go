@@ -2,8 +2,6 @@ package ctxfmt_test
 
 import (
 	"fmt"
-	"math"
-	"regexp"
 	"slices"
 	"strings"
 	"testing"
@@ -46,28 +44,6 @@ func checkPrintByWords(t *testing.T, p api.Patch) {
 	t.Helper()
 	want, code := printByWords(p)
 	checkPrint(t, p, want, code)
-}
-
-// plainName is a name that stands as it is, but for /dev/null.
-var plainName = regexp.MustCompile(`^[!#-~]+$`)
-
-// nameByWords is a name as it stands in a patch, by the chapter's words.
-func nameByWords(name string) string {
-	switch {
-	case name == "":
-		return "/dev/null"
-	case name != "/dev/null" && plainName.MatchString(name):
-		return name
-	}
-	var s strings.Builder
-	for _, c := range []byte(name) {
-		if c < 32 || c > 126 || c == '"' || c == '\\' {
-			fmt.Fprintf(&s, `\%02x`, c)
-		} else {
-			s.WriteByte(c)
-		}
-	}
-	return `"` + s.String() + `"`
 }
 
 // rangeByWords is a range, by the chapter's words.
@@ -131,7 +107,7 @@ func printByWords(p api.Patch) (string, api.Errno) {
 			return "", err
 		}
 		if i == 0 {
-			s.WriteString("*** " + nameByWords(p.Old) + "\n--- " + nameByWords(p.New) + "\n")
+			s.WriteString("*** " + samples.NameText(p.Old) + "\n--- " + samples.NameText(p.New) + "\n")
 		}
 		s.WriteString(hunkText(rangeByWords(h.A, h.AN), sideByWords(h.Lines, '-'), rangeByWords(h.B, h.BN), sideByWords(h.Lines, '+')))
 	}
@@ -248,75 +224,13 @@ func TestPrintOfNoHunks(t *testing.T) {
 	checkPrint(t, api.Patch{Old: "a", New: long + "x"}, "", api.ErrName)
 }
 
-// nameCase is a name, and how it stands in a patch.
-type nameCase struct{ name, text string }
-
-// nameCases are names of all kinds.
-func nameCases() []nameCase {
-	long := strings.Repeat("x", api.MaxName-1)
-	return []nameCase{
-		{"", "/dev/null"},
-		{"/dev/null", `"/dev/null"`},
-		{"a", "a"},
-		{"dir/file.go", "dir/file.go"},
-		{"/dev/nul", "/dev/nul"},
-		{"/dev/nulll", "/dev/nulll"},
-		{"dev/null", "dev/null"},
-		{"/dev/null ", `"/dev/null "`},
-		{"/DEV/NULL", "/DEV/NULL"},
-		{"//dev/null", "//dev/null"},
-		{"a b", `"a b"`},
-		{" ", `" "`},
-		{" a", `" a"`},
-		{"a ", `"a "`},
-		{`"`, `"\22"`},
-		{`a"b`, `"a\22b"`},
-		{`"a"`, `"\22a\22"`},
-		{`"/dev/null"`, `"\22/dev/null\22"`},
-		{`\`, `\`},
-		{`a\b`, `a\b`},
-		{`a\ b`, `"a\5c b"`},
-		{`\20`, `\20`},
-		{"a\tb", `"a\09b"`},
-		{"a\n", `"a\0a"`},
-		{"\x00", `"\00"`},
-		{"\x1f", `"\1f"`},
-		{"!", "!"},
-		{"#", "#"},
-		{"~", "~"},
-		{"\x7f", `"\7f"`},
-		{"\x80", `"\80"`},
-		{"\xff\xfe", `"\ff\fe"`},
-		{"ä", `"\c3\a4"`},
-		{"***", "***"},
-		{"---", "---"},
-		{"***************", "***************"},
-		{"1", "1"},
-		{"1,3 ****", `"1,3 ****"`},
-		{"1 ----", `"1 ----"`},
-		{long + "x", long + "x"},
-		{long + " ", `"` + long + ` "`},
-		{strings.Repeat("\xff", api.MaxName), `"` + strings.Repeat(`\ff`, api.MaxName) + `"`},
-		{strings.Repeat(`"`, api.MaxName), `"` + strings.Repeat(`\22`, api.MaxName) + `"`},
-		{strings.Repeat(" ", api.MaxName), `"` + strings.Repeat(" ", api.MaxName) + `"`},
-	}
-}
-
 func TestPrintOfNames(t *testing.T) {
 	h := samples.Hunk([4]int{1, 1, 0, 0}, "-x\n")
 	text := hunkText("1", "- x\n", "0", "")
-	l := nameCases()
-	for c := range 256 {
-		name := "x" + string([]byte{byte(c)})
-		l = append(l, nameCase{name, nameByWords(name)}, nameCase{name[1:], nameByWords(name[1:])})
-	}
-	for _, c := range l {
-		if nameByWords(c.name) != c.text {
-			t.Errorf("%q is %q by the words, not %q", c.name, nameByWords(c.name), c.text)
-		}
-		checkPrint(t, api.Patch{Old: c.name, New: "b", Hunks: []api.Hunk{h}}, "*** "+c.text+"\n--- b\n"+text, api.OK)
-		checkPrint(t, api.Patch{Old: "a", New: c.name, Hunks: []api.Hunk{h}}, "*** a\n--- "+c.text+"\n"+text, api.OK)
-		checkPrint(t, api.Patch{Old: c.name, New: c.name, Hunks: []api.Hunk{h}}, "*** "+c.text+"\n--- "+c.text+"\n"+text, api.OK)
+	for _, c := range samples.FileNames() {
+		checkPrint(t, api.Patch{Old: c.Name, New: "b", Hunks: []api.Hunk{h}}, "*** "+c.Text+"\n--- b\n"+text, api.OK)
+		checkPrint(t, api.Patch{Old: "a", New: c.Name, Hunks: []api.Hunk{h}}, "*** a\n--- "+c.Text+"\n"+text, api.OK)
+		checkPrint(t, api.Patch{Old: c.Name, New: c.Name, Hunks: []api.Hunk{h}}, "*** "+c.Text+"\n--- "+c.Text+"\n"+text, api.OK)
 	}
 }
 
@@ -330,59 +244,22 @@ func TestPrintOfNamesThatAreTooLong(t *testing.T) {
 	}
 }
 
-// wrongHunk is a hunk, and what is wrong with it.
-type wrongHunk struct {
-	hunk api.Hunk
-	code api.Errno
-}
-
-// wrongHunks are some for each thing that may be wrong with a hunk.
-func wrongHunks() []wrongHunk {
-	const top = api.MaxNumber
-	return []wrongHunk{
-		{samples.Hunk([4]int{-1, 1, 0, 0}, "-x\n"), api.ErrRange},
-		{samples.Hunk([4]int{1, -1, 0, 0}, "-x\n"), api.ErrRange},
-		{samples.Hunk([4]int{1, 1, -1, 0}, "-x\n"), api.ErrRange},
-		{samples.Hunk([4]int{1, 1, 0, -1}, "-x\n"), api.ErrRange},
-		{samples.Hunk([4]int{0, 1, 0, 0}, "-x\n"), api.ErrRange},
-		{samples.Hunk([4]int{0, 0, 0, 1}, "+x\n"), api.ErrRange},
-		{samples.Hunk([4]int{top + 1, 1, 0, 0}, "-x\n"), api.ErrRange},
-		{samples.Hunk([4]int{1, 1, top + 1, 0}, "-x\n"), api.ErrRange},
-		{samples.Hunk([4]int{1, math.MaxInt, 0, 0}, "-x\n"), api.ErrRange},
-		{samples.Hunk([4]int{math.MinInt, 1, math.MaxInt, 0}, "-x\n"), api.ErrRange},
-		{samples.Hunk([4]int{1, 1, 0, 0}, "-x\n", "!y\n"), api.ErrField},
-		{samples.Hunk([4]int{1, 1, 1, 1}, "!x\n"), api.ErrField},
-		{samples.Hunk([4]int{1, 1, 0, 0}, "\x00x\n"), api.ErrField},
-		{samples.Hunk([4]int{1, 1, 0, 0}, "-"), api.ErrField},
-		{samples.Hunk([4]int{1, 1, 0, 0}, "-x\ny\n"), api.ErrField},
-		{samples.Hunk([4]int{1, 2, 0, 0}, "-x", "-y\n"), api.ErrField},
-		{samples.Hunk([4]int{1, 1, 1, 2}, " x", "+y\n"), api.ErrField},
-		{samples.Hunk([4]int{1, 2, 0, 0}, "-x\n"), api.ErrCount},
-		{samples.Hunk([4]int{1, 1, 1, 1}, "-x\n"), api.ErrCount},
-		{samples.Hunk([4]int{1, 0, 0, 0}, "-x\n"), api.ErrCount},
-		{samples.Hunk([4]int{1, top, 0, 0}, "-x\n"), api.ErrCount},
-		{samples.Hunk([4]int{1, 1, 1, 1}, " x\n"), api.ErrScript},
-		{api.Hunk{}, api.ErrScript},
-		{samples.Hunk([4]int{1, 0, 1, 0}), api.ErrScript},
-	}
-}
-
 func TestPrintOfWrongHunks(t *testing.T) {
 	right := samples.Hunk([4]int{1, 1, 0, 0}, "-x\n")
 	long := strings.Repeat("x", api.MaxName+1)
-	for _, c := range wrongHunks() {
-		if code := hunks.Check(c.hunk); code != c.code {
-			t.Fatalf("%s is wrong by %d, not by %d", told(c.hunk), code, c.code)
+	for _, c := range samples.WrongHunks() {
+		if code := hunks.Check(c.Hunk); code != c.Err {
+			t.Fatalf("%s is wrong by %d, not by %d", told(c.Hunk), code, c.Err)
 		}
-		checkPrint(t, patchOf(c.hunk), "", c.code)
-		checkPrint(t, patchOf(right, c.hunk), "", c.code)
-		checkPrint(t, patchOf(c.hunk, right), "", c.code)
-		checkPrint(t, patchOf(right, right, c.hunk, right), "", c.code)
-		checkPrint(t, api.Patch{Hunks: []api.Hunk{c.hunk}}, "", c.code)
-		checkPrint(t, api.Patch{Old: long, New: "b", Hunks: []api.Hunk{c.hunk}}, "", api.ErrName)
-		checkPrint(t, api.Patch{Old: "a", New: long, Hunks: []api.Hunk{right, c.hunk}}, "", api.ErrName)
-		for _, other := range wrongHunks() {
-			checkPrint(t, patchOf(c.hunk, other.hunk), "", c.code)
+		checkPrint(t, patchOf(c.Hunk), "", c.Err)
+		checkPrint(t, patchOf(right, c.Hunk), "", c.Err)
+		checkPrint(t, patchOf(c.Hunk, right), "", c.Err)
+		checkPrint(t, patchOf(right, right, c.Hunk, right), "", c.Err)
+		checkPrint(t, api.Patch{Hunks: []api.Hunk{c.Hunk}}, "", c.Err)
+		checkPrint(t, api.Patch{Old: long, New: "b", Hunks: []api.Hunk{c.Hunk}}, "", api.ErrName)
+		checkPrint(t, api.Patch{Old: "a", New: long, Hunks: []api.Hunk{right, c.Hunk}}, "", api.ErrName)
+		for _, other := range samples.WrongHunks() {
+			checkPrint(t, patchOf(c.Hunk, other.Hunk), "", c.Err)
 		}
 	}
 }
@@ -404,41 +281,10 @@ func TestPrintOfAsManyHunksAsMayBe(t *testing.T) {
 	checkPrint(t, patchOf(l...), "", api.ErrLong)
 }
 
-// hunkOf is a hunk that stands at the first line of both texts, of such signs, each with a line of its own.
-func hunkOf(signs string) api.Hunk {
-	var h api.Hunk
-	for i, sign := range []byte(signs) {
-		h.Lines = append(h.Lines, api.Mark{Sign: sign, Text: fmt.Sprint("line ", i, "\n")})
-	}
-	h.AN, h.BN = len(hunks.Old(h)), len(hunks.New(h))
-	h.A, h.B = min(h.AN, 1), min(h.BN, 1)
-	return h
-}
-
-// unfed is a hunk of which the last line with one of these signs lacks its line feed.
-func unfed(h api.Hunk, signs string) api.Hunk {
-	h.Lines = slices.Clone(h.Lines)
-	for i := len(h.Lines) - 1; i >= 0; i-- {
-		if m := &h.Lines[i]; strings.IndexByte(signs, m.Sign) >= 0 {
-			m.Text = strings.TrimSuffix(m.Text, "\n")
-			break
-		}
-	}
-	return h
-}
-
-// allEnds hands over a hunk with and without the last line feeds, also of lines that may not lack theirs.
-func allEnds(h api.Hunk, do func(h api.Hunk)) {
-	for _, signs := range []string{"", " ", "-", "+", " -", " +"} {
-		do(unfed(h, signs))
-	}
-	do(unfed(unfed(h, "-"), "+"))
-}
-
 func TestPrintOfAllShortHunks(t *testing.T) {
 	right, wrong := 0, 0
 	samples.Texts(" -+", 7, func(signs string) {
-		allEnds(hunkOf(signs), func(h api.Hunk) {
+		samples.Ends(samples.SignedHunk(signs), func(h api.Hunk) {
 			checkPrintByWords(t, patchOf(h))
 			if hunks.Check(h) == api.OK {
 				right++

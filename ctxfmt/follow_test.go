@@ -148,7 +148,7 @@ func TestWhatIsPrintedIsReadAgainUpToTheLimit(t *testing.T) {
 func TestWhatGoesIsReadAheadOfWhatComes(t *testing.T) {
 	n := 0
 	samples.Texts(" -+", 7, func(signs string) {
-		allEnds(hunkOf(signs), func(h api.Hunk) {
+		samples.Ends(samples.SignedHunk(signs), func(h api.Hunk) {
 			if hunks.Check(h) != api.OK {
 				return
 			}
@@ -185,7 +185,7 @@ func sorted(h api.Hunk) api.Hunk {
 func TestWhatIsHandedInIsLeftAlone(t *testing.T) {
 	behind := api.Mark{Sign: 9, Text: "behind"}
 	for _, signs := range []string{"", " ", "-", "+", "-+", "+-", " + - ", "-+ -+-+ +-"} {
-		want := hunkOf(signs)
+		want := samples.SignedHunk(signs)
 		for _, code := range []int{0, 1} {
 			h := want
 			h.AN += code // right once, and then wrong

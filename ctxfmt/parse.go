@@ -7,6 +7,7 @@ import (
 	"redline/api"
 	"redline/lines"
 	"redline/num"
+	"redline/patchtext"
 )
 
 // Parse is the patches that a text in the context form is.
@@ -77,9 +78,9 @@ func (r *reader) patch(ahead int) api.Patch {
 
 // name is the name on the next line, behind what must stand ahead of it there.
 func (r *reader) name(head string) string {
-	name, ok := nameFrom(r.bare(head))
-	if !ok {
-		r.refuse(api.ErrName)
+	name, err := patchtext.Named(r.bare(head))
+	if err != api.OK {
+		r.refuse(err)
 	}
 	return name
 }
@@ -162,7 +163,7 @@ func isShown(line string, sign byte) bool {
 
 // end takes the line feed from a side's last line, if the mark stands behind it. Of an empty line nothing would be left: behind that the mark may not stand, and is left to be refused.
 func (r *reader) end(last *api.Mark) {
-	if last.Text == feed || r.next == len(r.lines) || r.lines[r.next] != mark {
+	if last.Text == feed || r.next == len(r.lines) || r.lines[r.next] != patchtext.Mark {
 		return
 	}
 	last.Text = strings.TrimSuffix(last.Text, feed)

@@ -87,37 +87,15 @@ func TestParseOfSeveralPatches(t *testing.T) {
 }
 
 func TestParseOfNames(t *testing.T) {
-	l := nameCases()
-	for c := range 256 {
-		name := "x" + string([]byte{byte(c)})
-		l = append(l, nameCase{name, nameByWords(name)}, nameCase{name[1:], nameByWords(name[1:])})
-	}
-	for _, c := range l {
-		checkParse(t, "*** "+c.text+"\n--- b\n"+goes, []api.Patch{{Old: c.name, New: "b", Hunks: []api.Hunk{gone()}}})
-		checkParse(t, "*** a\n--- "+c.text+"\n"+goes, []api.Patch{{Old: "a", New: c.name, Hunks: []api.Hunk{gone()}}})
-		checkParse(t, names+goes+"*** "+c.text+"\n--- "+c.text+"\n"+goes, []api.Patch{patchOf(gone()), {Old: c.name, New: c.name, Hunks: []api.Hunk{gone()}}})
-	}
-}
-
-// wrongNames are what stands for no name.
-func wrongNames() []string {
-	long := strings.Repeat("x", api.MaxName)
-	return []string{
-		"", " ", "  ", " a", "a ", "a b", "\t", "a\tb", "a\t2026-11-18", "a\r", "\x00", "\x1f", "\x7f", "\x80", "\xff", "ä", "a\u00a0b",
-		`"`, `""`, `"a"`, `"a\b"`, `"!~"`, `"/dev/nul"`, `"/dev/null`, `"/dev/null" `, ` "/dev/null"`, `"\2fdev/null"`, "/dev/null ", " /dev/null", "/dev/null\t", "/dev/null x",
-		`"a b`, `a b"`, `a "b"`, `"a b" `, `"a b"x`, `"a b""`, `"a b" "c d"`, ` "a b"`, `""a b"`, `'a b'`,
-		`"a\20b c"`, `"\61 "`, `"a\5Cb c"`, `"\FF"`, `"\0A"`, `"\zz"`, `"\2"`, `"\"`, `"\22`, `"a \`, `"a\ b"`, `"a\\b c"`, `"\n"`, `"\x20"`, `"\g0"`, `"\ "`,
-		`a"b`, `a"`, `a"b"`, `"a"b"`, "\"a\tb\"", "\"\x00\"", "\"\xff\"", "\"ä\"",
-		long + "x", strings.Repeat("x", 1000), `"` + long + ` "`, `"` + long[1:] + `\ff\ff"`, `"` + strings.Repeat(`\ff`, api.MaxName+1) + `"`, `"` + strings.Repeat(" ", api.MaxName+1) + `"`, `"` + long + `"`,
-		"1,3 ****", "1 ****", "1 ----", "**** ****",
+	for _, c := range samples.FileNames() {
+		checkParse(t, "*** "+c.Text+"\n--- b\n"+goes, []api.Patch{{Old: c.Name, New: "b", Hunks: []api.Hunk{gone()}}})
+		checkParse(t, "*** a\n--- "+c.Text+"\n"+goes, []api.Patch{{Old: "a", New: c.Name, Hunks: []api.Hunk{gone()}}})
+		checkParse(t, names+goes+"*** "+c.Text+"\n--- "+c.Text+"\n"+goes, []api.Patch{patchOf(gone()), {Old: c.Name, New: c.Name, Hunks: []api.Hunk{gone()}}})
 	}
 }
 
 func TestParseOfWrongNames(t *testing.T) {
-	for _, name := range wrongNames() {
-		if _, right := nameRead(name); right {
-			t.Errorf("%q is a name", name)
-		}
+	for _, name := range samples.WrongNames() {
 		checkFault(t, "*** "+name+"\n--- b\n"+goes, 1, api.ErrName)
 		checkFault(t, "*** a\n--- "+name+"\n"+goes, 2, api.ErrName)
 		checkFault(t, "*** "+name+"\n", 1, api.ErrName)

@@ -30,23 +30,8 @@ var (
 	starsForm    = regexp.MustCompile(`^\*{15}( .*)?\n$`)
 	oldRangeForm = regexp.MustCompile(`^\*\*\* (0|[1-9][0-9]*)(?:,([1-9][0-9]*))? \*\*\*\*\n$`)
 	newRangeForm = regexp.MustCompile(`^--- (0|[1-9][0-9]*)(?:,([1-9][0-9]*))? ----\n$`)
-	quotedForm   = regexp.MustCompile(`^"((?:[ !#-\[\]-~]|\\[0-9a-f]{2})*)"$`)
 	pieceForm    = regexp.MustCompile(`^(-*\||\|\+*|!+\|!+)$`)
 )
-
-// nameRead is the name that stands as s in a patch.
-func nameRead(s string) (string, bool) {
-	name := s
-	if parts := quotedForm.FindStringSubmatch(s); parts != nil {
-		name = regexp.MustCompile(`\\..`).ReplaceAllStringFunc(parts[1], func(digits string) string {
-			c, _ := strconv.ParseUint(digits[1:], 16, 8)
-			return string([]byte{byte(c)})
-		})
-	} else if s == "/dev/null" {
-		name = ""
-	}
-	return name, nameByWords(name) == s && len(name) <= 64
-}
 
 // sideRead is a range, and the lines behind it.
 type sideRead struct {
@@ -247,7 +232,7 @@ func (r *reading) takeName(line string) api.Errno {
 	if !strings.HasPrefix(line, front) {
 		return api.ErrText
 	}
-	name, right := nameRead(line[len(front) : len(line)-1])
+	name, right := samples.NameFrom(line[len(front) : len(line)-1])
 	if !right {
 		return api.ErrName
 	}
