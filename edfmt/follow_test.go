@@ -7,7 +7,6 @@ import (
 
 	"redline/api"
 	"redline/edfmt"
-	"redline/engine"
 	"redline/lines"
 	"redline/samples"
 )
@@ -83,13 +82,7 @@ func TestWhatIsPrintedMakesTheTextOfOddLines(t *testing.T) {
 // checkEngines says it of the scripts that all engines find.
 func checkEngines(t *testing.T, a, b []string) {
 	t.Helper()
-	for _, number := range []int{api.Minimal, api.Patience, api.Histogram, api.Speedy} {
-		l, err := engine.Diff(number, a, b, api.Ignore{})
-		if err != api.OK {
-			t.Fatalf("engine %d: %d", number, err)
-		}
-		checkThereAndBack(t, l, a, b)
-	}
+	samples.Engines(a, b, api.Ignore{}, func(l []api.Change) { checkThereAndBack(t, l, a, b) })
 }
 
 // dotted is a line for each class, the first of them dots.
@@ -177,14 +170,13 @@ func TestWhatIsAnsweredIsNewMemory(t *testing.T) {
 // Each fault is one of its own: who changes it does not change what is told later.
 func TestFaultsAreNewMemory(t *testing.T) {
 	for _, text := range []string{"x\n", "9d\n", "a\n", "s/.//\n", "1a\n", endLine + endLine, "1d", strings.Repeat("x", api.MaxText+1)} {
-		_, err := edfmt.Run(text, three())
-		fault, ok := err.(*api.Fault)
-		if !ok {
-			t.Fatalf("%s: %v", told(text), err)
+		fault := func() error {
+			_, err := edfmt.Run(text, three())
+			return err
 		}
-		at, code := fault.At, fault.Err.(api.Errno)
-		*fault = api.Fault{At: -7}
-		checkFault(t, text, three(), at, code)
+		if !samples.OwnFaults(fault) {
+			t.Errorf("%s: faults share memory, or there are none", told(text))
+		}
 	}
 }
 

@@ -6,7 +6,6 @@ import (
 	"testing"
 
 	"redline/api"
-	"redline/engine"
 	"redline/hunks"
 	"redline/lines"
 	"redline/normal"
@@ -82,28 +81,10 @@ func TestWhatIsPrintedIsReadAgainOfAnyLines(t *testing.T) {
 	}
 }
 
-// checkEngines says it of the scripts that all engines find.
-func checkEngines(t *testing.T, a, b []string, o api.Ignore) {
-	t.Helper()
-	for _, number := range []int{api.Minimal, api.Patience, api.Histogram, api.Speedy} {
-		l, err := engine.Diff(number, a, b, o)
-		if err != api.OK {
-			t.Fatalf("engine %d: %d", number, err)
-		}
-		checkThereAndBack(t, l, a, b)
-	}
-}
-
 func TestWhatIsPrintedIsReadAgainOfAllEngines(t *testing.T) {
-	samples.Both(2, 4, func(x, y []int) { checkEngines(t, samples.Text(x), samples.Text(y), api.Ignore{}) })
-	samples.Mixed(40, 60, func(x, y []int) {
-		checkEngines(t, samples.Text(x), samples.Unfed(samples.Text(y)), api.Ignore{})
-		checkEngines(t, samples.Unfed(samples.Text(x)), samples.Text(y), api.Ignore{Case: true})
+	samples.TextPairs(func(a, b []string, o api.Ignore) {
+		samples.Engines(a, b, o, func(l []api.Change) { checkThereAndBack(t, l, a, b) })
 	})
-	samples.Mixed(4, 900, func(x, y []int) { checkEngines(t, samples.Text(x), samples.Text(y), api.Ignore{}) })
-	for _, c := range samples.Plain() {
-		checkEngines(t, samples.Text(c.X), samples.Text(c.Y), api.Ignore{})
-	}
 }
 
 // Up to the limit nothing is refused, above it Parse alone does.
@@ -161,14 +142,13 @@ func TestWhatIsReadIsNewMemory(t *testing.T) {
 // Each fault is one of its own: who changes it does not change what is told later.
 func TestFaultsAreNewMemory(t *testing.T) {
 	for _, text := range []string{"x\n", "1d0\n", strings.Repeat("x", api.MaxText+1), strings.Repeat("1d0\n< a\n", api.MaxHunks+1)} {
-		_, err := normal.Parse(text)
-		fault, ok := err.(*api.Fault)
-		if !ok {
-			t.Fatalf("%s: %v", told(text), err)
+		fault := func() error {
+			_, err := normal.Parse(text)
+			return err
 		}
-		at, code := fault.At, fault.Err.(api.Errno)
-		*fault = api.Fault{At: -7}
-		checkFault(t, text, at, code)
+		if !samples.OwnFaults(fault) {
+			t.Errorf("%s: faults share memory, or there are none", told(text))
+		}
 	}
 }
 

@@ -1,4 +1,4 @@
-// Package patchtext is what the forms of patches share: how names and lines stand in them, and which patches are right. It is no layer of its own, and calls num and hunks, as each of these forms may.
+// Package patchtext is what the forms of patches share: how names, lines, ranges and changes stand in them, and which patches are right. It is no layer of its own, and calls num and hunks, as each of these forms may.
 package patchtext
 
 import (

@@ -66,3 +66,35 @@ func TestCheckTellsWhatComesFirst(t *testing.T) {
 		}
 	}
 }
+
+func TestRangesAreSaidByTheirEnds(t *testing.T) {
+	for _, c := range []struct {
+		number, count int
+		want          string
+	}{{0, 0, "0"}, {7, 0, "7"}, {7, 1, "7"}, {7, 2, "7,8"}, {1, 10, "1,10"}, {99, 2, "99,100"}, {api.MaxNumber, 1, "2147483647"}, {api.MaxNumber, 2, "2147483647,2147483648"}} {
+		if s := patchtext.Range(c.number, c.count); s != c.want {
+			t.Errorf("%d of %d: %q, want %q", c.count, c.number, s, c.want)
+		}
+	}
+}
+
+func TestTheNormalFormOfEachKindOfChange(t *testing.T) {
+	const mark = "\\ No newline at end of file\n"
+	for _, c := range []struct {
+		hunk api.Hunk
+		want string
+	}{
+		{samples.Hunk([4]int{2, 1, 1, 0}, "-a\n"), "2d1\n< a\n"},
+		{samples.Hunk([4]int{0, 0, 1, 2}, "+a\n", "+\n"), "0a1,2\n> a\n> \n"},
+		{samples.Hunk([4]int{3, 2, 9, 1}, "-a\n", "-b\n", "+c\n"), "3,4c9\n< a\n< b\n---\n> c\n"},
+		{samples.Hunk([4]int{1, 1, 1, 1}, "-a", "+b"), "1c1\n< a\n" + mark + "---\n> b\n" + mark},
+		{samples.Hunk([4]int{5, 0, 6, 1}, "+a"), "5a6\n> a\n" + mark},
+	} {
+		if s := patchtext.Normal(c.hunk); s != c.want {
+			t.Errorf("%+v: %q, want %q", c.hunk, s, c.want)
+		}
+	}
+	if patchtext.OldFront != "< " || patchtext.NewFront != "> " || patchtext.Divider != "---\n" {
+		t.Errorf("fronts %q and %q, the line between %q", patchtext.OldFront, patchtext.NewFront, patchtext.Divider)
+	}
+}

@@ -6,7 +6,6 @@ import (
 	"testing"
 
 	"redline/api"
-	"redline/engine"
 	"redline/lines"
 	"redline/rcsfmt"
 	"redline/samples"
@@ -83,13 +82,7 @@ func TestWhatIsPrintedMakesTheTextOfOddLines(t *testing.T) {
 // checkEngines says it of the scripts that all engines find.
 func checkEngines(t *testing.T, a, b []string) {
 	t.Helper()
-	for _, number := range []int{api.Minimal, api.Patience, api.Histogram, api.Speedy} {
-		l, err := engine.Diff(number, a, b, api.Ignore{})
-		if err != api.OK {
-			t.Fatalf("engine %d: %d", number, err)
-		}
-		checkThereAndBack(t, l, a, b)
-	}
+	samples.Engines(a, b, api.Ignore{}, func(l []api.Change) { checkThereAndBack(t, l, a, b) })
 }
 
 // oddly is a line for each class, the first of them commands and empty ones.
@@ -178,14 +171,13 @@ func TestWhatIsAnsweredIsNewMemory(t *testing.T) {
 // Each fault is one of its own: who changes it does not change what is told later.
 func TestFaultsAreNewMemory(t *testing.T) {
 	for _, text := range []string{"x\n", "d2 1\nd1 1\n", "d9 1\n", "a1 1\n", "a0 1\nx", "d1 1", strings.Repeat("x", api.MaxText+1)} {
-		_, err := rcsfmt.Run(text, numbered(3))
-		fault, ok := err.(*api.Fault)
-		if !ok {
-			t.Fatalf("%s: %v", told(text), err)
+		fault := func() error {
+			_, err := rcsfmt.Run(text, numbered(3))
+			return err
 		}
-		at, code := fault.At, fault.Err.(api.Errno)
-		*fault = api.Fault{At: -7}
-		checkFault(t, text, numbered(3), at, code)
+		if !samples.OwnFaults(fault) {
+			t.Errorf("%s: faults share memory, or there are none", told(text))
+		}
 	}
 }
 

@@ -581,21 +581,5 @@ func TestRunOfTextsThatEndBehindEachByte(t *testing.T) {
 // Another byte at each place, a byte more, a byte less, two lines exchanged, one left out or twice there.
 func TestRunOfTextsThatAreNearlyRight(t *testing.T) {
 	a := numbered(12)
-	for i := range len(aText) {
-		checkByWords(t, aText[:i]+aText[i+1:], a)
-		for c := range 256 {
-			checkByWords(t, aText[:i]+string([]byte{byte(c)})+aText[i+1:], a)
-			checkByWords(t, aText[:i]+string([]byte{byte(c)})+aText[i:], a)
-		}
-	}
-	l := strings.SplitAfter(aText, "\n")
-	for i := range l {
-		for j := range l {
-			other := slices.Clone(l)
-			other[i], other[j] = other[j], other[i]
-			checkByWords(t, strings.Join(other, ""), a)
-			checkByWords(t, strings.Join(slices.Insert(slices.Clone(l), i, l[j]), ""), a)
-		}
-		checkByWords(t, strings.Join(slices.Delete(slices.Clone(l), i, i+1), ""), a)
-	}
+	samples.Nearly(aText, func(text string) { checkByWords(t, text, a) })
 }

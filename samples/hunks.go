@@ -48,3 +48,15 @@ func IsFault(err error, at int, code api.Errno) bool {
 	var found *api.Fault
 	return plain && number == code && fault.At == at && errors.As(err, &found) && found == fault && errors.Is(err, code)
 }
+
+// OwnFaults tells whether two calls of the same answer a fault each of their own: who changes the first one does not change the second.
+func OwnFaults(call func() error) bool {
+	first, ok := call().(*api.Fault)
+	if !ok {
+		return false
+	}
+	at := first.At
+	code, ok := first.Err.(api.Errno)
+	*first = api.Fault{At: at + 1}
+	return ok && IsFault(call(), at, code)
+}

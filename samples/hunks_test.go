@@ -102,3 +102,22 @@ func TestIsFaultSeesEachDifference(t *testing.T) {
 		}
 	}
 }
+
+func TestOwnFaultsSeesWhatIsShared(t *testing.T) {
+	one, calls := &api.Fault{At: 3, Err: api.ErrText}, 0
+	if !samples.OwnFaults(func() error { return &api.Fault{At: 3, Err: api.ErrText} }) {
+		t.Error("new faults count as shared")
+	}
+	for _, call := range []func() error{
+		func() error { return one },
+		func() error { return nil },
+		func() error { return api.ErrText },
+		func() error { return &api.Fault{At: 3} },
+		func() error { return &api.Fault{At: 3, Err: wrapped{api.ErrText}} },
+		func() error { calls++; return &api.Fault{At: calls, Err: api.ErrText} },
+	} {
+		if samples.OwnFaults(call) {
+			t.Error("what is shared, another one, or none counts as a fault of its own")
+		}
+	}
+}

@@ -1,4 +1,4 @@
-// Package samples makes what the tests of all layers hold the calls against: every short text, line and list, every choice of what is ignored, lines that count as the same, edit scripts, hunks, names as they stand in patches, pairs of texts for all engines; and it tells whether lists were left alone, and are apart, and whether an error is a fault. The layers themselves do not call it.
+// Package samples makes what the tests of all layers hold the calls against: every short text, line and list, every choice of what is ignored, lines that count as the same, edit scripts, hunks, names as they stand in patches, texts that are nearly another one, pairs of texts for all engines, and the scripts that these find; and it tells whether lists were left alone, and are apart, and whether an error is a fault, and one of its own. The layers themselves do not call it.
 package samples
 
 import (

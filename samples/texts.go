@@ -56,3 +56,25 @@ func Before(signs string, b []string) []string {
 	}
 	return a
 }
+
+// Nearly hands over texts that are nearly that text: of each byte those without it, with any byte in its place, and with any ahead of it; those with two lines exchanged, with a line left out, and with a line once more, at any place.
+func Nearly(text string, do func(text string)) {
+	for i := range len(text) {
+		do(text[:i] + text[i+1:])
+		for c := range 256 {
+			b := string([]byte{byte(c)})
+			do(text[:i] + b + text[i+1:])
+			do(text[:i] + b + text[i:])
+		}
+	}
+	l := strings.SplitAfter(text, "\n")
+	for i := range l {
+		for j := range l {
+			other := slices.Clone(l)
+			other[i], other[j] = other[j], other[i]
+			do(strings.Join(other, ""))
+			do(strings.Join(slices.Insert(slices.Clone(l), i, l[j]), ""))
+		}
+		do(strings.Join(slices.Delete(slices.Clone(l), i, i+1), ""))
+	}
+}

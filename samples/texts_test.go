@@ -75,3 +75,30 @@ func TestOfBeforeTheScriptMakesTheText(t *testing.T) {
 		}
 	}
 }
+
+func TestNearlyHandsOverEachKindOfText(t *testing.T) {
+	all := map[string]int{}
+	const text = "ab\nc\n"
+	samples.Nearly(text, func(s string) { all[s]++ })
+	for _, want := range []string{
+		"b\nc\n", "a\nc\n", "abc\n", "ab\n\n", "ab\nc", // a byte less
+		"xb\nc\n", "\x00b\nc\n", "\xffb\nc\n", "a\n\nc\n", "ab\ncx", // another one
+		"xab\nc\n", "ab\nxc\n", "\nab\nc\n", "ab\nc\xff\n", // one more
+		"c\nab\n", "c\n", "ab\n", // lines exchanged, one left out
+		"ab\nab\nc\n", "c\nab\nc\n", "ab\nc\nc\n", "ab\nc\nab\n", // one once more
+	} {
+		if all[want] == 0 {
+			t.Errorf("%q is missing", want)
+		}
+	}
+	for s := range all {
+		if d := len(s) - len(text); d < -3 || d > 3 {
+			t.Errorf("%q is too far off", s)
+		}
+	}
+	samples.Nearly("", func(s string) {
+		if s != "" {
+			t.Errorf("%q is nearly nothing", s)
+		}
+	})
+}

@@ -6,7 +6,6 @@ import (
 	"testing"
 
 	"redline/api"
-	"redline/engine"
 	"redline/hunks"
 	"redline/lines"
 	"redline/samples"
@@ -126,37 +125,10 @@ func TestWhatIsPrintedIsReadAgainOfAnyLines(t *testing.T) {
 	}
 }
 
-// checkEngines says it of the scripts that all engines find.
-func checkEngines(t *testing.T, a, b []string, o api.Ignore) {
-	t.Helper()
-	for _, number := range []int{api.Minimal, api.Patience, api.Histogram, api.Speedy} {
-		l, err := engine.Diff(number, a, b, o)
-		if err != api.OK {
-			t.Fatalf("engine %d: %d", number, err)
-		}
-		checkScript(t, l, a, b)
-	}
-}
-
 func TestWhatIsPrintedIsReadAgainOfAllEngines(t *testing.T) {
-	samples.Both(2, 3, func(x, y []int) {
-		a, b := samples.Text(x), samples.Text(y)
-		checkEngines(t, a, b, api.Ignore{})
-		checkEngines(t, samples.Unfed(a), b, api.Ignore{})
-		checkEngines(t, samples.Unfed(a), samples.Unfed(b), api.Ignore{Case: true})
+	samples.TextPairs(func(a, b []string, o api.Ignore) {
+		samples.Engines(a, b, o, func(l []api.Change) { checkScript(t, l, a, b) })
 	})
-	samples.Mixed(40, 60, func(x, y []int) {
-		checkEngines(t, samples.Text(x), samples.Unfed(samples.Text(y)), api.Ignore{})
-		checkEngines(t, samples.Unfed(samples.Text(x)), samples.Text(y), api.Ignore{})
-	})
-	samples.Mixed(4, 900, func(x, y []int) { checkEngines(t, samples.Text(x), samples.Text(y), api.Ignore{}) })
-	for _, c := range samples.Plain() {
-		checkEngines(t, samples.Text(c.X), samples.Text(c.Y), api.Ignore{})
-	}
-	for _, c := range samples.Alikes() {
-		a, b := samples.Right(c.A+"x\n"+c.A, 2), samples.Right(c.B+"y\n"+c.B, 2)
-		checkEngines(t, a, b, c.Ignored)
-	}
 }
 
 func TestWhatIsPrintedIsReadAgainUpToTheLimit(t *testing.T) {
@@ -233,14 +205,13 @@ func TestFaultsAreNewMemory(t *testing.T) {
 		"x\n", names, "--- \n", names + hunkText("0,0", "0,0"), names + hunkText("0", "1", "-x\n"), names + hunkText("1", "1", "x\n"),
 		strings.Repeat("x", api.MaxText+1), strings.Repeat(names+goes, api.MaxFiles+1), names + strings.Repeat(goes, api.MaxHunks+1),
 	} {
-		_, err := unified.Parse(text)
-		fault, ok := err.(*api.Fault)
-		if !ok {
-			t.Fatalf("%s: %v", told(text), err)
+		fault := func() error {
+			_, err := unified.Parse(text)
+			return err
 		}
-		at, code := fault.At, fault.Err.(api.Errno)
-		*fault = api.Fault{At: -7}
-		checkFault(t, text, at, code)
+		if !samples.OwnFaults(fault) {
+			t.Errorf("%s: faults share memory, or there are none", told(text))
+		}
 	}
 }
 

@@ -84,34 +84,12 @@ func TestBothTextsComeOutOfOneOfOddLines(t *testing.T) {
 	}
 }
 
-// checkEngines says it of the scripts that all engines find.
-func checkEngines(t *testing.T, a, b []string) {
-	t.Helper()
-	for _, number := range []int{api.Minimal, api.Patience, api.Histogram, api.Speedy} {
-		l, err := engine.Diff(number, a, b, api.Ignore{})
-		if err != api.OK {
-			t.Fatalf("engine %d: %d", number, err)
-		}
-		checkThereAndBack(t, l, a, b, "NAME_1")
-	}
-}
-
 func TestBothTextsComeOutOfOneOfAllEngines(t *testing.T) {
-	samples.Both(2, 4, func(x, y []int) {
-		a, b := samples.Text(x), samples.Text(y)
-		checkEngines(t, a, b)
-		checkEngines(t, a, samples.Unfed(b))
-		checkEngines(t, samples.Unfed(a), b)
-		checkEngines(t, samples.Unfed(a), samples.Unfed(b))
+	samples.TextPairs(func(a, b []string, o api.Ignore) {
+		if o == (api.Ignore{}) { // else they need not
+			samples.Engines(a, b, o, func(l []api.Change) { checkThereAndBack(t, l, a, b, "NAME_1") })
+		}
 	})
-	samples.Mixed(40, 60, func(x, y []int) {
-		checkEngines(t, samples.Text(x), samples.Unfed(samples.Text(y)))
-		checkEngines(t, samples.Unfed(samples.Text(x)), samples.Text(y))
-	})
-	samples.Mixed(4, 900, func(x, y []int) { checkEngines(t, samples.Text(x), samples.Text(y)) })
-	for _, c := range samples.Plain() {
-		checkEngines(t, samples.Text(c.X), samples.Text(c.Y))
-	}
 }
 
 // With differences that are ignored the line of a is told where one is kept, and that of b is not.
@@ -201,14 +179,13 @@ func TestWhatIsAnsweredHangsOnNothingThatWasHandedIn(t *testing.T) {
 func TestFaultsAreNewMemory(t *testing.T) {
 	for _, c := range []struct{ text, name string }{{"", ""}, {"a\n", "1"}, {"#ifdef N\n", "N"}, {"a\n#else /* N */\n", "N"}, {"#ifdef N\n#ifdef N\n", "N"}, {"#ifndef N\n#endif /* N */\n", "N"}} {
 		for _, defined := range []bool{true, false} {
-			_, err := views.Resolve(c.text, c.name, defined)
-			fault, ok := err.(*api.Fault)
-			if !ok {
-				t.Fatalf("%s: %v", told(c), err)
+			fault := func() error {
+				_, err := views.Resolve(c.text, c.name, defined)
+				return err
 			}
-			at, code := fault.At, fault.Err.(api.Errno)
-			*fault = api.Fault{At: -7}
-			checkFault(t, c.text, c.name, at, code)
+			if !samples.OwnFaults(fault) {
+				t.Errorf("%s: faults share memory, or there are none", told(c))
+			}
 		}
 	}
 }

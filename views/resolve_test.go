@@ -355,23 +355,7 @@ func TestResolveOfTextsThatEndBehindEachByte(t *testing.T) {
 
 // Another byte at each place, a byte more, a byte less, two lines exchanged, one left out or twice there.
 func TestResolveOfTextsThatAreNearlyRight(t *testing.T) {
-	for i := range len(aText) {
-		checkByWords(t, aText[:i]+aText[i+1:], "N")
-		for c := range 256 {
-			checkByWords(t, aText[:i]+string([]byte{byte(c)})+aText[i+1:], "N")
-			checkByWords(t, aText[:i]+string([]byte{byte(c)})+aText[i:], "N")
-		}
-	}
-	l := strings.SplitAfter(aText, "\n")
-	for i := range l {
-		for j := range l {
-			other := slices.Clone(l)
-			other[i], other[j] = other[j], other[i]
-			checkByWords(t, strings.Join(other, ""), "N")
-			checkByWords(t, strings.Join(slices.Insert(slices.Clone(l), i, l[j]), ""), "N")
-		}
-		checkByWords(t, strings.Join(slices.Delete(slices.Clone(l), i, i+1), ""), "N")
-	}
+	samples.Nearly(aText, func(text string) { checkByWords(t, text, "N") })
 }
 
 // More bytes than may be read, more lines than may be compared.
